@@ -1,0 +1,143 @@
+package field
+
+import (
+	"sync"
+
+	"syndrome/api"
+)
+
+// slot: room for the table of one size; it stays empty if there is no such field.
+type slot struct {
+	once sync.Once
+	made *table
+}
+
+// shelf has a slot for each size, so that a field is made when it is asked for first, and never again.
+var shelf [api.MaxQ + 1]slot
+
+// table: what a field's calls look up.
+type table struct {
+	size, char, degree int
+	low                int // the modulus, without its highest power
+	gen                int
+	sums               [api.MaxQ][api.MaxQ]uint8
+	opposites          [api.MaxQ]uint8
+	powers             [api.MaxQ]uint8 // of gen, from 1 on
+	logs               [api.MaxQ]int
+}
+
+// build makes the table of a size; nil, if there is no such field.
+func build(q int) *table {
+	p, m := primePower(q)
+	if m == 0 {
+		return nil
+	}
+	t := &table{size: q, char: p, degree: m}
+	t.laySums()
+	if m == 1 {
+		t.layByNumber()
+	} else {
+		t.layByModulus()
+	}
+	return t
+}
+
+// primePower tells the prime p and the m of q = p^m; m is 0, if there are none.
+func primePower(q int) (p, m int) {
+	p = 2
+	for p < q && q%p != 0 {
+		p++
+	}
+	for q > 1 && q%p == 0 {
+		q /= p
+		m++
+	}
+	if q != 1 {
+		return 0, 0
+	}
+	return p, m
+}
+
+// laySums fills in all sums, and what makes each element 0.
+func (t *table) laySums() {
+	for a := range t.size {
+		for b := range t.size {
+			sum := t.sumByDigits(a, b)
+			t.sums[a][b] = uint8(sum)
+			if sum == 0 {
+				t.opposites[a] = uint8(b)
+			}
+		}
+	}
+}
+
+// sumByDigits adds digit by digit, without carrying.
+func (t *table) sumByDigits(a, b int) int {
+	sum := 0
+	for unit := 1; unit < t.size; unit *= t.char {
+		sum += (a/unit + b/unit) % t.char * unit
+	}
+	return sum
+}
+
+// layByNumber looks for the generator of a prime field, and lays its powers.
+func (t *table) layByNumber() {
+	for g := 1; g < t.size; g++ {
+		if t.layPowers(func(a int) int { return a * g % t.char }) {
+			t.gen = g
+			return
+		}
+	}
+}
+
+// layByModulus looks for the modulus of a field that is no prime one, and lays the powers of x.
+func (t *table) layByModulus() {
+	t.gen = t.char
+	for low := range t.size {
+		if t.layPowers(func(a int) int { return t.timesX(a, low) }) {
+			t.low = low
+			return
+		}
+	}
+}
+
+// layPowers lays 1, and what step makes of it again and again; false, if these are not all elements but 0.
+func (t *table) layPowers(step func(a int) int) bool {
+	for a := range t.logs {
+		t.logs[a] = none
+	}
+	a := 1
+	for k := range t.size - 1 {
+		if a == 0 || t.logs[a] != none {
+			return false
+		}
+		t.powers[k], t.logs[a] = uint8(a), k
+		a = step(a)
+	}
+	return true
+}
+
+// timesX is an element times x, by a modulus whose lower part is low: as often as the highest power comes up, low is taken away for it.
+func (t *table) timesX(a, low int) int {
+	top, rest := a*t.char/t.size, a*t.char%t.size
+	for range top {
+		rest = int(t.sums[rest][t.opposites[low]])
+	}
+	return rest
+}
+
+// power is the generator to any power.
+func (t *table) power(k int) int { return int(t.powers[remainder(k, t.size-1)]) }
+
+// digits are a number's digits to the base of the characteristic, the lowest first, as many as the degree.
+func (t *table) digits(a int) []int {
+	out := make([]int, t.degree)
+	for i := range out {
+		out[i] = a % t.char
+		a /= t.char
+	}
+	return out
+}
+
+// remainder is what k leaves by n, from 0 on also where k is below 0.
+func remainder(k, n int) int { return (k%n + n) % n }
