@@ -8,19 +8,21 @@ const none = -1
 
 // Field: a finite field.
 type Field struct {
-	made *table // all fields of one size share it: nothing writes into it once it is made
+	made *table // nothing writes into it once it is made
 }
 
 // New is the field of so many elements.
 func New(q int) (*Field, api.Errno) {
-	if q < 0 || q > api.MaxQ {
+	made := build(q)
+	if made == nil {
 		return nil, api.ErrField
 	}
-	shelf[q].once.Do(func() { shelf[q].made = build(q) })
-	if shelf[q].made == nil {
-		return nil, api.ErrField
+	// What build says holds; the shelf only spares all fields of one size a table each.
+	shelf[q].once.Do(func() { shelf[q].made = made })
+	if first := shelf[q].made; *first == *made {
+		return &Field{made: first}, api.OK
 	}
-	return &Field{made: shelf[q].made}, api.OK
+	return &Field{made: made}, api.OK
 }
 
 // Size is how many elements there are.
@@ -46,7 +48,7 @@ func (f *Field) Add(a, b int) int {
 	if !f.Has(a) || !f.Has(b) {
 		return none
 	}
-	return int(f.made.sums[a][b])
+	return f.made.sum(a, b)
 }
 
 // Neg is the opposite.
@@ -54,7 +56,7 @@ func (f *Field) Neg(a int) int {
 	if !f.Has(a) {
 		return none
 	}
-	return int(f.made.opposites[a])
+	return f.made.opposite(a)
 }
 
 // Sub is the first less the second.

@@ -6,13 +6,13 @@ import (
 	"syndrome/api"
 )
 
-// slot: room for the table of one size; it stays empty if there is no such field.
+// slot: room for the table of one size.
 type slot struct {
 	once sync.Once
 	made *table
 }
 
-// shelf has a slot for each size, so that a field is made when it is asked for first, and never again.
+// shelf has a slot for each size; what stands there is put there once, when a field of that size is asked for first.
 var shelf [api.MaxQ + 1]slot
 
 // table: what a field's calls look up.
@@ -20,9 +20,7 @@ type table struct {
 	size, char, degree int
 	low                int // the modulus, without its highest power
 	gen                int
-	sums               [api.MaxQ][api.MaxQ]uint8
-	opposites          [api.MaxQ]uint8
-	powers             [api.MaxQ]uint8 // of gen, from 1 on
+	powers             [api.MaxQ]int // of gen, from 1 on
 	logs               [api.MaxQ]int
 }
 
@@ -33,7 +31,6 @@ func build(q int) *table {
 		return nil
 	}
 	t := &table{size: q, char: p, degree: m}
-	t.laySums()
 	if m == 1 {
 		t.layByNumber()
 	} else {
@@ -42,13 +39,16 @@ func build(q int) *table {
 	return t
 }
 
-// primePower tells the prime p and the m of q = p^m; m is 0, if there are none.
+// primePower tells the prime p and the m of q = p^m; m is 0, if there are none, or q is too great for a field.
 func primePower(q int) (p, m int) {
+	if q < 2 || q > api.MaxQ {
+		return 0, 0
+	}
 	p = 2
-	for p < q && q%p != 0 {
+	for q%p != 0 {
 		p++
 	}
-	for q > 1 && q%p == 0 {
+	for q%p == 0 {
 		q /= p
 		m++
 	}
@@ -58,26 +58,28 @@ func primePower(q int) (p, m int) {
 	return p, m
 }
 
-// laySums fills in all sums, and what makes each element 0.
-func (t *table) laySums() {
-	for a := range t.size {
-		for b := range t.size {
-			sum := t.sumByDigits(a, b)
-			t.sums[a][b] = uint8(sum)
-			if sum == 0 {
-				t.opposites[a] = uint8(b)
-			}
-		}
+// sum adds digit by digit, without carrying.
+func (t *table) sum(a, b int) int {
+	if t.char == 2 {
+		return a ^ b // the same, and much sooner
 	}
-}
-
-// sumByDigits adds digit by digit, without carrying.
-func (t *table) sumByDigits(a, b int) int {
 	sum := 0
 	for unit := 1; unit < t.size; unit *= t.char {
 		sum += (a/unit + b/unit) % t.char * unit
 	}
 	return sum
+}
+
+// opposite is what makes an element 0.
+func (t *table) opposite(a int) int {
+	if t.char == 2 {
+		return a
+	}
+	out := 0
+	for unit := 1; unit < t.size; unit *= t.char {
+		out += (t.char - a/unit%t.char) % t.char * unit
+	}
+	return out
 }
 
 // layByNumber looks for the generator of a prime field, and lays its powers.
@@ -111,7 +113,7 @@ func (t *table) layPowers(step func(a int) int) bool {
 		if a == 0 || t.logs[a] != none {
 			return false
 		}
-		t.powers[k], t.logs[a] = uint8(a), k
+		t.powers[k], t.logs[a] = a, k
 		a = step(a)
 	}
 	return true
@@ -121,13 +123,13 @@ func (t *table) layPowers(step func(a int) int) bool {
 func (t *table) timesX(a, low int) int {
 	top, rest := a*t.char/t.size, a*t.char%t.size
 	for range top {
-		rest = int(t.sums[rest][t.opposites[low]])
+		rest = t.sum(rest, t.opposite(low))
 	}
 	return rest
 }
 
 // power is the generator to any power.
-func (t *table) power(k int) int { return int(t.powers[remainder(k, t.size-1)]) }
+func (t *table) power(k int) int { return t.powers[remainder(k, t.size-1)] }
 
 // digits are a number's digits to the base of the characteristic, the lowest first, as many as the degree.
 func (t *table) digits(a int) []int {
