@@ -9,73 +9,28 @@ import (
 	"syndrome/api"
 	"syndrome/code"
 	"syndrome/field"
+	"syndrome/hold"
 	"syndrome/matrix"
 )
 
-// draw tells numbers that look drawn, the same each time.
-type draw uint64
-
-func (d *draw) below(n int) int {
-	*d = *d*6364136223846793005 + 1442695040888963407
-	return int(uint64(*d>>33) % uint64(n))
+// anyCode draws one that is small enough to go through all words of its length.
+func anyCode(d *hold.Draw) api.Code {
+	q := []int{2, 2, 3, 4, 5}[d.Below(5)]
+	return codeOf(d, q, 1+d.Below(map[int]int{2: 6, 3: 4, 4: 3, 5: 3}[q]))
 }
 
-func (d *draw) list(q, many int) []int {
-	out := make([]int, many)
-	for i := range out {
-		out[i] = d.below(q)
-	}
-	return out
-}
-
-// code draws one that is small enough to go through all words of its length.
-func (d *draw) code() api.Code {
-	q := []int{2, 2, 3, 4, 5}[d.below(5)]
-	return d.codeOf(q, 1+d.below(map[int]int{2: 6, 3: 4, 4: 3, 5: 3}[q]))
-}
-
-func (d *draw) codeOf(q, n int) api.Code {
+func codeOf(d *hold.Draw, q, n int) api.Code {
 	c := api.Code{Q: q, N: n}
-	for range d.below(n + 2) {
-		c.Rows = append(c.Rows, d.list(q, n))
+	for range d.Below(n + 2) {
+		c.Rows = append(c.Rows, d.List(q, n))
 	}
 	return c
-}
-
-func same(t *testing.T, what string, got, want any) {
-	t.Helper()
-	if got != want {
-		t.Fatalf("%s => %v, want %v", what, got, want)
-	}
-}
-
-func sameList(t *testing.T, what string, got []int, want ...int) {
-	t.Helper()
-	if !slices.Equal(got, want) {
-		t.Fatalf("%s => %v, want %v", what, got, want)
-	}
 }
 
 func sameCode(t *testing.T, what string, got, want api.Code) {
 	t.Helper()
 	if got.Q != want.Q || got.N != want.N || !slices.EqualFunc(got.Rows, want.Rows, slices.Equal) {
 		t.Fatalf("%s => %v, want %v", what, got, want)
-	}
-}
-
-// each goes through all lists of so many elements, in order.
-func each(q, many int, see func(x []int)) {
-	x := make([]int, many)
-	for {
-		see(x)
-		i := many - 1
-		for ; i >= 0 && x[i] == q-1; i-- {
-			x[i] = 0
-		}
-		if i < 0 {
-			return
-		}
-		x[i]++
 	}
 }
 
@@ -91,6 +46,17 @@ func sums(c api.Code, message []int) []int {
 	return word
 }
 
+// products of rows with a word.
+func products(f *field.Field, rows [][]int, word []int) []int {
+	out := make([]int, len(rows))
+	for i, row := range rows {
+		for j, v := range row {
+			out[i] = f.Add(out[i], f.Mul(v, word[j]))
+		}
+	}
+	return out
+}
+
 func key(word []int) string {
 	out := make([]byte, len(word))
 	for i, v := range word {
@@ -102,23 +68,23 @@ func key(word []int) string {
 // wordsOf: all words of a code.
 func wordsOf(c api.Code) map[string][]int {
 	out := map[string][]int{}
-	each(c.Q, len(c.Rows), func(message []int) {
+	for message := range hold.Each(c.Q, len(c.Rows)) {
 		word := sums(c, message)
 		out[key(word)] = word
-	})
+	}
 	return out
 }
 
 // isCode: is what a call told the code of these words, by its one form?
 func isCode(t *testing.T, what string, got api.Code, q, n int, words map[string][]int) {
 	t.Helper()
-	same(t, what+": Q", got.Q, q)
-	same(t, what+": N", got.N, n)
+	hold.Same(t, what+": Q", got.Q, q)
+	hold.Same(t, what+": N", got.N, n)
 	rows, _, e := matrix.Reduce(got.Q, got.Rows)
-	same(t, what+": error", e, api.OK)
+	hold.Same(t, what+": error", e, api.OK)
 	sameCode(t, what+": its one form", got, api.Code{Q: q, N: n, Rows: rows})
 	told := wordsOf(got)
-	same(t, what+": words", len(told), len(words))
+	hold.Same(t, what+": words", len(told), len(words))
 	for k := range told {
 		if words[k] == nil {
 			t.Fatalf("%s: %v is none of its words", what, told[k])
@@ -162,7 +128,7 @@ func TestC1Check(t *testing.T) {
 		{"longer rows", api.Code{Q: 2, N: 1, Rows: [][]int{{0, 1}}}, api.ErrForm},
 		{"shorter rows", api.Code{Q: 2, N: 3, Rows: [][]int{{0, 1}, {1, 1}}}, api.ErrForm},
 	} {
-		same(t, c.what, code.Check(c.c), c.want)
+		hold.Same(t, c.what, code.Check(c.c), c.want)
 	}
 }
 
@@ -198,7 +164,7 @@ func TestC1AllCallsCheck(t *testing.T) {
 			t.Fatalf("%v may be", c)
 		}
 		for call, e := range says(c) {
-			same(t, call, e, want)
+			hold.Same(t, call, e, want)
 		}
 	}
 }
@@ -208,7 +174,7 @@ func TestC1NothingBesideAnError(t *testing.T) {
 	keep := func(c api.Code, e api.Errno) {
 		t.Helper()
 		sameCode(t, "a code beside an error", c, api.Code{})
-		same(t, "an error", e != api.OK, true)
+		hold.Same(t, "an error", e != api.OK, true)
 	}
 	keep(code.Make(bad))
 	keep(code.Dual(bad))
@@ -226,34 +192,27 @@ func TestC1NothingBesideAnError(t *testing.T) {
 	distance, _ := code.Distance(unit(2, 13))
 	near, off, _ := code.Nearest(hamming, nil)
 	text, _ := code.Print(bad)
-	same(t, "how much there is", len(word)+len(syndrome)+len(weights)+distance+len(near)+off+len(text), 0)
-	same(t, "Has", has, false)
+	hold.Same(t, "how much there is", len(word)+len(syndrome)+len(weights)+distance+len(near)+off+len(text), 0)
+	hold.Same(t, "Has", has, false)
 }
 
 func TestC1MakeAndDual(t *testing.T) {
-	d := draw(1)
+	d := hold.Draw(1)
 	for range 200 {
-		c := d.code()
+		c := anyCode(&d)
 		words := wordsOf(c)
 		one, e := code.Make(c)
-		same(t, "Make's error", e, api.OK)
+		hold.Same(t, "Make's error", e, api.OK)
 		isCode(t, "Make", one, c.Q, c.N, words)
 		f, _ := field.New(c.Q)
 		noughts := map[string][]int{}
-		each(c.Q, c.N, func(x []int) {
-			for _, row := range c.Rows {
-				sum := 0
-				for i, v := range row {
-					sum = f.Add(sum, f.Mul(v, x[i]))
-				}
-				if sum != 0 {
-					return
-				}
+		for x := range hold.Each(c.Q, c.N) {
+			if code.Weight(products(f, c.Rows, x)) == 0 {
+				noughts[key(x)] = x
 			}
-			noughts[key(x)] = slices.Clone(x)
-		})
+		}
 		dual, e := code.Dual(c)
-		same(t, "Dual's error", e, api.OK)
+		hold.Same(t, "Dual's error", e, api.OK)
 		isCode(t, "Dual", dual, c.Q, c.N, noughts)
 		again, _ := code.Dual(dual)
 		sameCode(t, "the dual's dual", again, one)
@@ -268,16 +227,16 @@ func TestC1MakeAndDual(t *testing.T) {
 
 func TestC2Encode(t *testing.T) {
 	word, e := code.Encode(hamming, []int{1, 0, 1, 1})
-	same(t, "Encode's error", e, api.OK)
+	hold.Same(t, "Encode's error", e, api.OK)
 	one, _ := code.Make(hamming)
-	sameList(t, "Encode", word, sums(one, []int{1, 0, 1, 1})...)
-	sameList(t, "the message stands at the pivots", word[:4], 1, 0, 1, 1)
+	hold.List(t, "Encode", word, sums(one, []int{1, 0, 1, 1})...)
+	hold.List(t, "the message stands at the pivots", word[:4], 1, 0, 1, 1)
 	twice := api.Code{Q: 5, N: 3, Rows: [][]int{{2, 4, 1}, {1, 2, 3}}}
 	word, _ = code.Encode(twice, []int{3})
-	sameList(t, "rows that hang on each other count once", word, 3, 1, 4)
+	hold.List(t, "rows that hang on each other count once", word, 3, 1, 4)
 	word, e = code.Encode(api.Code{Q: 5, N: 3}, nil)
-	same(t, "no rows", e, api.OK)
-	sameList(t, "no rows", word, 0, 0, 0)
+	hold.Same(t, "no rows", e, api.OK)
+	hold.List(t, "no rows", word, 0, 0, 0)
 	for _, c := range []struct {
 		message []int
 		want    api.Errno
@@ -285,37 +244,31 @@ func TestC2Encode(t *testing.T) {
 		{nil, api.ErrCount}, {[]int{1, 7}, api.ErrCount}, {[]int{5}, api.ErrValue}, {[]int{-1}, api.ErrValue}, {[]int{4}, api.OK},
 	} {
 		_, e := code.Encode(twice, c.message)
-		same(t, "Encode", e, c.want)
+		hold.Same(t, "Encode", e, c.want)
 	}
 }
 
 func TestC2SyndromeAndHas(t *testing.T) {
 	s, e := code.Syndrome(hamming, []int{1, 0, 1, 0, 1, 0, 1})
-	same(t, "Syndrome's error", e, api.OK)
-	sameList(t, "Syndrome", s, 0, 1, 1)
-	d := draw(2)
+	hold.Same(t, "Syndrome's error", e, api.OK)
+	hold.List(t, "Syndrome", s, 0, 1, 1)
+	d := hold.Draw(2)
 	for range 60 {
-		c := d.code()
+		c := anyCode(&d)
 		words := wordsOf(c)
 		dual, _ := code.Dual(c)
 		f, _ := field.New(c.Q)
-		each(c.Q, c.N, func(x []int) {
-			want := make([]int, len(dual.Rows))
-			for i, row := range dual.Rows {
-				for j, v := range row {
-					want[i] = f.Add(want[i], f.Mul(v, x[j]))
-				}
-			}
+		for x := range hold.Each(c.Q, c.N) {
 			s, _ := code.Syndrome(c, x)
-			sameList(t, "Syndrome", s, want...)
+			hold.List(t, "Syndrome", s, products(f, dual.Rows, x)...)
 			has, e := code.Has(c, x)
-			same(t, "Has's error", e, api.OK)
-			same(t, "Has", has, words[key(x)] != nil)
-		})
+			hold.Same(t, "Has's error", e, api.OK)
+			hold.Same(t, "Has", has, words[key(x)] != nil)
+		}
 	}
 	s, e = code.Syndrome(unit(3, 2), []int{1, 2})
-	same(t, "of all words", e, api.OK)
-	same(t, "of all words", len(s), 0)
+	hold.Same(t, "of all words", e, api.OK)
+	hold.Same(t, "of all words", len(s), 0)
 }
 
 func TestC2WrongWords(t *testing.T) {
@@ -327,30 +280,30 @@ func TestC2WrongWords(t *testing.T) {
 		{[]int{0, 0, 0, 0, 0, 0, 2}, api.ErrValue}, {[]int{-1, 0, 0, 0, 0, 0, 0}, api.ErrValue}, {make([]int, 7), api.OK},
 	} {
 		_, e := code.Syndrome(hamming, c.w)
-		same(t, "Syndrome", e, c.want)
+		hold.Same(t, "Syndrome", e, c.want)
 		_, e = code.Has(hamming, c.w)
-		same(t, "Has", e, c.want)
+		hold.Same(t, "Has", e, c.want)
 		_, _, e = code.Nearest(hamming, c.w)
-		same(t, "Nearest", e, c.want)
+		hold.Same(t, "Nearest", e, c.want)
 	}
 }
 
 func TestC2WeightAndApart(t *testing.T) {
-	same(t, "of nothing", code.Weight(nil), 0)
-	same(t, "of any numbers", code.Weight([]int{0, -1, math.MaxInt, 0, 7}), 3)
-	same(t, "of nothing, twice", code.Apart(nil, []int{}), 0)
-	same(t, "of any numbers", code.Apart([]int{1, -2, 3}, []int{1, 2, math.MinInt}), 2)
-	same(t, "a longer one", code.Apart([]int{1}, []int{1, 2}), -1)
-	same(t, "a shorter one", code.Apart([]int{1, 2}, nil), -1)
+	hold.Same(t, "of nothing", code.Weight(nil), 0)
+	hold.Same(t, "of any numbers", code.Weight([]int{0, -1, math.MaxInt, 0, 7}), 3)
+	hold.Same(t, "of nothing, twice", code.Apart(nil, []int{}), 0)
+	hold.Same(t, "of any numbers", code.Apart([]int{1, -2, 3}, []int{1, 2, math.MinInt}), 2)
+	hold.Same(t, "a longer one", code.Apart([]int{1}, []int{1, 2}), -1)
+	hold.Same(t, "a shorter one", code.Apart([]int{1, 2}, nil), -1)
 }
 
 func TestC3WeightsAndDistance(t *testing.T) {
 	weights, e := code.Weights(hamming)
-	same(t, "Weights's error", e, api.OK)
-	sameList(t, "Weights", weights, 1, 0, 0, 7, 7, 0, 0, 1)
-	d := draw(3)
+	hold.Same(t, "Weights's error", e, api.OK)
+	hold.List(t, "Weights", weights, 1, 0, 0, 7, 7, 0, 0, 1)
+	d := hold.Draw(3)
 	for range 100 {
-		c := d.code()
+		c := anyCode(&d)
 		want, least := make([]int, c.N+1), 0
 		for _, word := range wordsOf(c) {
 			w := code.Weight(word)
@@ -360,16 +313,16 @@ func TestC3WeightsAndDistance(t *testing.T) {
 			}
 		}
 		weights, _ := code.Weights(c)
-		sameList(t, "Weights", weights, want...)
+		hold.List(t, "Weights", weights, want...)
 		distance, e := code.Distance(c)
-		same(t, "Distance's error", e, api.OK)
-		same(t, "Distance", distance, least)
+		hold.Same(t, "Distance's error", e, api.OK)
+		hold.Same(t, "Distance", distance, least)
 	}
 	weights, _ = code.Weights(api.Code{Q: 64, N: 3})
-	sameList(t, "one word", weights, 1, 0, 0, 0)
+	hold.List(t, "one word", weights, 1, 0, 0, 0)
 	distance, e := code.Distance(api.Code{Q: 64, N: 3})
-	same(t, "one word's error", e, api.OK)
-	same(t, "one word", distance, 0)
+	hold.Same(t, "one word's error", e, api.OK)
+	hold.Same(t, "one word", distance, 0)
 }
 
 func TestC3Limit(t *testing.T) {
@@ -382,40 +335,40 @@ func TestC3Limit(t *testing.T) {
 		{api.Code{Q: 2, N: 1, Rows: slices.Repeat([][]int{{1}}, 64)}, api.OK}, // many rows, two words
 	} {
 		_, e := code.Weights(c.c)
-		same(t, "Weights", e, c.want)
+		hold.Same(t, "Weights", e, c.want)
 		_, e = code.Distance(c.c)
-		same(t, "Distance", e, c.want)
+		hold.Same(t, "Distance", e, c.want)
 		_, _, e = code.Nearest(c.c, make([]int, c.c.N))
-		same(t, "Nearest", e, c.want)
+		hold.Same(t, "Nearest", e, c.want)
 	}
 	_, _, e := code.Nearest(unit(2, 13), []int{7})
-	same(t, "the limit ahead of the word", e, api.ErrLimit)
+	hold.Same(t, "the limit ahead of the word", e, api.ErrLimit)
 }
 
 func TestC3Nearest(t *testing.T) {
 	word, off, e := code.Nearest(hamming, []int{1, 1, 1, 1, 0, 0, 0})
-	same(t, "Nearest's error", e, api.OK)
-	sameList(t, "Nearest", word, 1, 1, 0, 1, 0, 0, 0)
-	same(t, "Nearest", off, 1)
-	d := draw(4)
+	hold.Same(t, "Nearest's error", e, api.OK)
+	hold.List(t, "Nearest", word, 1, 1, 0, 1, 0, 0, 0)
+	hold.Same(t, "Nearest", off, 1)
+	d := hold.Draw(4)
 	for range 150 {
-		c := d.code()
+		c := anyCode(&d)
 		one, _ := code.Make(c)
-		w := d.list(c.Q, c.N)
+		w := d.List(c.Q, c.N)
 		var want []int
 		least := c.N + 1
-		each(c.Q, len(one.Rows), func(message []int) {
+		for message := range hold.Each(c.Q, len(one.Rows)) {
 			if word := sums(one, message); code.Apart(word, w) < least {
 				want, least = word, code.Apart(word, w)
 			}
-		})
+		}
 		word, off, _ := code.Nearest(c, w)
-		sameList(t, "Nearest", word, want...)
-		same(t, "Nearest", off, least)
+		hold.List(t, "Nearest", word, want...)
+		hold.Same(t, "Nearest", off, least)
 	}
 	word, off, _ = code.Nearest(api.Code{Q: 3, N: 2}, []int{1, 2})
-	sameList(t, "one word", word, 0, 0)
-	same(t, "one word", off, 2)
+	hold.List(t, "one word", word, 0, 0)
+	hold.Same(t, "one word", off, 2)
 }
 
 // without: words less a place; of zero only those that are 0 there.
@@ -431,18 +384,18 @@ func without(c api.Code, place int, zero bool) map[string][]int {
 }
 
 func TestC4PunctureAndShorten(t *testing.T) {
-	d := draw(5)
+	d := hold.Draw(5)
 	for range 200 {
-		c := d.code()
+		c := anyCode(&d)
 		if c.N == 1 {
 			continue
 		}
-		place := d.below(c.N)
+		place := d.Below(c.N)
 		got, e := code.Puncture(c, place)
-		same(t, "Puncture's error", e, api.OK)
+		hold.Same(t, "Puncture's error", e, api.OK)
 		isCode(t, "Puncture", got, c.Q, c.N-1, without(c, place, false))
 		got, e = code.Shorten(c, place)
-		same(t, "Shorten's error", e, api.OK)
+		hold.Same(t, "Shorten's error", e, api.OK)
 		isCode(t, "Shorten", got, c.Q, c.N-1, without(c, place, true))
 	}
 	for _, c := range []struct {
@@ -454,18 +407,18 @@ func TestC4PunctureAndShorten(t *testing.T) {
 		{unit(2, 1), 1, api.ErrPlace}, {unit(2, 1), 0, api.ErrLimit}, {api.Code{Q: 2, N: 1}, 0, api.ErrLimit}, {unit(64, 64), 63, api.OK},
 	} {
 		_, e := code.Puncture(c.c, c.place)
-		same(t, "Puncture", e, c.want)
+		hold.Same(t, "Puncture", e, c.want)
 		_, e = code.Shorten(c.c, c.place)
-		same(t, "Shorten", e, c.want)
+		hold.Same(t, "Shorten", e, c.want)
 	}
 }
 
 func TestC4Extend(t *testing.T) {
 	got, _ := code.Extend(api.Code{Q: 3, N: 4, Rows: [][]int{{1, 0, 1, 1}, {0, 1, 1, 2}}})
 	sameCode(t, "Extend", got, api.Code{Q: 3, N: 5, Rows: [][]int{{1, 0, 1, 1, 0}, {0, 1, 1, 2, 2}}})
-	d := draw(6)
+	d := hold.Draw(6)
 	for range 100 {
-		c := d.code()
+		c := anyCode(&d)
 		f, _ := field.New(c.Q)
 		want := map[string][]int{}
 		for _, word := range wordsOf(c) {
@@ -477,21 +430,21 @@ func TestC4Extend(t *testing.T) {
 			want[key(long)] = long
 		}
 		got, e := code.Extend(c)
-		same(t, "Extend's error", e, api.OK)
+		hold.Same(t, "Extend's error", e, api.OK)
 		isCode(t, "Extend", got, c.Q, c.N+1, want)
 	}
 	_, e := code.Extend(unit(2, 64))
-	same(t, "the longest", e, api.ErrLimit)
+	hold.Same(t, "the longest", e, api.ErrLimit)
 	got, e = code.Extend(api.Code{Q: 2, N: 63})
-	same(t, "the longest but one", e, api.OK)
+	hold.Same(t, "the longest but one", e, api.OK)
 	sameCode(t, "the longest but one", got, api.Code{Q: 2, N: 64})
 }
 
 func TestC4SumAndMeet(t *testing.T) {
-	d := draw(7)
+	d := hold.Draw(7)
 	for range 200 {
-		a := d.code()
-		b := d.codeOf(a.Q, a.N)
+		a := anyCode(&d)
+		b := codeOf(&d, a.Q, a.N)
 		first, second := wordsOf(a), wordsOf(b)
 		meet := map[string][]int{}
 		for k, word := range first {
@@ -502,26 +455,26 @@ func TestC4SumAndMeet(t *testing.T) {
 		both := api.Code{Q: a.Q, N: a.N, Rows: slices.Concat(a.Rows, b.Rows)}
 		one, _ := code.Make(both)
 		got, e := code.Sum(a, b)
-		same(t, "Sum's error", e, api.OK)
+		hold.Same(t, "Sum's error", e, api.OK)
 		isCode(t, "Sum", got, a.Q, a.N, wordsOf(one))
 		got, e = code.Meet(a, b)
-		same(t, "Meet's error", e, api.OK)
+		hold.Same(t, "Meet's error", e, api.OK)
 		isCode(t, "Meet", got, a.Q, a.N, meet)
 	}
 }
 
 // TestC4MostRows: both codes together have more rows than a matrix may have.
 func TestC4MostRows(t *testing.T) {
-	d := draw(8)
+	d := hold.Draw(8)
 	for _, q := range []int{2, 7, 64} {
 		all, half := unit(q, 64), unit(q, 64)
 		half.Rows = half.Rows[:63]
 		other := api.Code{Q: q, N: 64}
 		for range 64 {
-			other.Rows = append(other.Rows, append([]int{0}, d.list(q, 63)...))
+			other.Rows = append(other.Rows, append([]int{0}, d.List(q, 63)...))
 		}
 		got, e := code.Sum(all, all)
-		same(t, "Sum's error", e, api.OK)
+		hold.Same(t, "Sum's error", e, api.OK)
 		sameCode(t, "Sum of all", got, all)
 		got, _ = code.Sum(half, other)
 		sameCode(t, "Sum of nearly all", got, all)
@@ -535,31 +488,31 @@ func TestC4MostRows(t *testing.T) {
 func TestC4SumAndMeetErrors(t *testing.T) {
 	for _, other := range []api.Code{unit(3, 7), unit(2, 6), unit(3, 6), {Q: 4, N: 7}} {
 		_, e := code.Sum(hamming, other)
-		same(t, "Sum", e, api.ErrForm)
+		hold.Same(t, "Sum", e, api.ErrForm)
 		_, e = code.Meet(other, hamming)
-		same(t, "Meet", e, api.ErrForm)
+		hold.Same(t, "Meet", e, api.ErrForm)
 	}
 }
 
 func TestC5Print(t *testing.T) {
 	text, e := code.Print(api.Code{Q: 64, N: 3, Rows: [][]int{{1, 63, 10}, {0, 0, 0}}})
-	same(t, "Print's error", e, api.OK)
-	same(t, "Print", text, "64 3\n1 63 10\n")
+	hold.Same(t, "Print's error", e, api.OK)
+	hold.Same(t, "Print", text, "64 3\n1 63 10\n")
 	text, _ = code.Print(hamming)
-	same(t, "Print", text, "2 7\n1 0 0 0 1 1 0\n0 1 0 0 0 1 1\n0 0 1 0 1 1 1\n0 0 0 1 1 0 1\n")
+	hold.Same(t, "Print", text, "2 7\n1 0 0 0 1 1 0\n0 1 0 0 0 1 1\n0 0 1 0 1 1 1\n0 0 0 1 1 0 1\n")
 	text, _ = code.Print(api.Code{Q: 9, N: 64})
-	same(t, "Print of one word", text, "9 64\n")
+	hold.Same(t, "Print of one word", text, "9 64\n")
 }
 
 func TestC5ParseReadsWhatPrintTells(t *testing.T) {
-	d := draw(9)
+	d := hold.Draw(9)
 	for range 100 {
-		c := d.code()
+		c := anyCode(&d)
 		text, _ := code.Print(c)
 		one, _ := code.Make(c)
 		for _, x := range []string{text, strings.TrimSuffix(text, "\n")} {
 			got, e := code.Parse(x)
-			same(t, "Parse's error", e, api.OK)
+			hold.Same(t, "Parse's error", e, api.OK)
 			sameCode(t, "Parse", got, one)
 		}
 	}
@@ -613,7 +566,7 @@ func TestC5ParseErrors(t *testing.T) {
 		{"2 3" + strings.Repeat("x", api.MaxText-2), api.ErrLimit},
 	} {
 		got, e := code.Parse(c.text)
-		same(t, "Parse of "+c.text[:min(len(c.text), 30)], e, c.want)
+		hold.Same(t, "Parse of "+c.text[:min(len(c.text), 30)], e, c.want)
 		if e != api.OK {
 			sameCode(t, "a code beside an error", got, api.Code{})
 		}
@@ -641,20 +594,8 @@ func TestListsAreTheCallers(t *testing.T) {
 	}
 	word, _ := code.Encode(one, []int{1, 0})
 	outs = append(outs, word)
-	before := make([][]int, len(outs))
-	for i := range outs {
-		before[i] = slices.Clone(outs[i])
-	}
-	for i, l := range outs {
-		for j := i; j < len(outs); j++ {
-			sameList(t, "a list that wasn't written into", outs[j], before[j]...)
-		}
-		l = l[:cap(l)] // what stands behind its end is the caller's, too
-		for j := range l {
-			l[j] = 77
-		}
-	}
-	sameList(t, "what was handed in", one.Rows[0][:4], 1, 0, 2, 9)
-	sameList(t, "what was handed in", one.Rows[1][:4], 0, 1, 3, 9)
-	sameList(t, "what was handed in", row, 4, 4, 1)
+	hold.Apart(t, outs...)
+	hold.List(t, "what was handed in", one.Rows[0][:4], 1, 0, 2, 9)
+	hold.List(t, "what was handed in", one.Rows[1][:4], 0, 1, 3, 9)
+	hold.List(t, "what was handed in", row, 4, 4, 1)
 }

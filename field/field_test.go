@@ -8,6 +8,7 @@ import (
 
 	"syndrome/api"
 	"syndrome/field"
+	"syndrome/hold"
 )
 
 // all: every field there is, with its prime and degree.
@@ -27,20 +28,6 @@ func open(t *testing.T, q int) *field.Field {
 		t.Fatalf("New(%d) => %v, %d", q, f, e)
 	}
 	return f
-}
-
-func same(t *testing.T, what string, got, want any) {
-	t.Helper()
-	if got != want {
-		t.Fatalf("%s => %v, want %v", what, got, want)
-	}
-}
-
-func sameList(t *testing.T, what string, got []int, want ...int) {
-	t.Helper()
-	if !slices.Equal(got, want) {
-		t.Fatalf("%s => %v, want %v", what, got, want)
-	}
 }
 
 // split and join go between an element and its polynomial.
@@ -92,9 +79,9 @@ func TestF1Sizes(t *testing.T) {
 	for _, c := range all {
 		is[c.q] = true
 		f := open(t, c.q)
-		same(t, "Size", f.Size(), c.q)
-		same(t, "Char", f.Char(), c.p)
-		same(t, "Degree", f.Degree(), c.m)
+		hold.Same(t, "Size", f.Size(), c.q)
+		hold.Same(t, "Char", f.Char(), c.p)
+		hold.Same(t, "Degree", f.Degree(), c.m)
 	}
 	for q := -10; q < 200; q++ {
 		if f, e := field.New(q); !is[q] && (f != nil || e != api.ErrField) {
@@ -109,19 +96,19 @@ func TestF1Sizes(t *testing.T) {
 }
 
 func TestF1Modulus(t *testing.T) {
-	sameList(t, "Poly of 8", open(t, 8).Poly(), 1, 1, 0, 1)
-	sameList(t, "Poly of 9", open(t, 9).Poly(), 2, 1, 1)
+	hold.List(t, "Poly of 8", open(t, 8).Poly(), 1, 1, 0, 1)
+	hold.List(t, "Poly of 9", open(t, 9).Poly(), 2, 1, 1)
 	for _, c := range all {
 		f := open(t, c.q)
 		if c.m == 1 {
-			sameList(t, "Poly of a prime field", f.Poly(), 0, 1)
+			hold.List(t, "Poly of a prime field", f.Poly(), 0, 1)
 			continue
 		}
 		for low := range c.q {
 			modulus := append(split(low, c.p, c.m), 1)
 			if makesAll(c.p, c.q, func(a, b int) int { return product(a, b, c.p, modulus) }) {
-				sameList(t, "Poly", f.Poly(), modulus...)
-				same(t, "Gen", f.Gen(), c.p)
+				hold.List(t, "Poly", f.Poly(), modulus...)
+				hold.Same(t, "Gen", f.Gen(), c.p)
 				break
 			}
 		}
@@ -129,7 +116,7 @@ func TestF1Modulus(t *testing.T) {
 }
 
 func TestF1PrimeGenerators(t *testing.T) {
-	same(t, "Gen of 2", open(t, 2).Gen(), 1)
+	hold.Same(t, "Gen of 2", open(t, 2).Gen(), 1)
 	for _, c := range all {
 		if c.m > 1 {
 			continue
@@ -138,7 +125,7 @@ func TestF1PrimeGenerators(t *testing.T) {
 		for !makesAll(g, c.q, func(a, b int) int { return a * b % c.p }) {
 			g++
 		}
-		same(t, "Gen", open(t, c.q).Gen(), g)
+		hold.Same(t, "Gen", open(t, c.q).Gen(), g)
 	}
 }
 
@@ -152,12 +139,12 @@ func TestF1SumsAndProducts(t *testing.T) {
 				for i := range x {
 					x[i] = (x[i] + y[i]) % c.p
 				}
-				same(t, "Add", f.Add(a, b), join(x, c.p))
+				hold.Same(t, "Add", f.Add(a, b), join(x, c.p))
 				want := a * b % c.p
 				if c.m > 1 {
 					want = product(a, b, c.p, modulus)
 				}
-				same(t, "Mul", f.Mul(a, b), want)
+				hold.Same(t, "Mul", f.Mul(a, b), want)
 			}
 		}
 	}
@@ -176,9 +163,9 @@ func TestF1MadeOnce(t *testing.T) {
 	}
 	group.Wait()
 	for _, v := range got {
-		same(t, "Mul(7, 7)", v, got[0])
+		hold.Same(t, "Mul(7, 7)", v, got[0])
 	}
-	same(t, "Mul(7, 7)", got[0], open(t, 49).Pow(7, 2))
+	hold.Same(t, "Mul(7, 7)", got[0], open(t, 49).Pow(7, 2))
 }
 
 func TestFieldsAreTheCallers(t *testing.T) {
@@ -187,39 +174,39 @@ func TestFieldsAreTheCallers(t *testing.T) {
 	f.Within(2)[1] = 7
 	*f = *open(t, 9)
 	for _, h := range []*field.Field{g, open(t, 8)} {
-		sameList(t, "Poly", h.Poly(), 1, 1, 0, 1)
-		sameList(t, "Within", h.Within(2), 0, 1)
-		same(t, "Size", h.Size(), 8)
+		hold.List(t, "Poly", h.Poly(), 1, 1, 0, 1)
+		hold.List(t, "Within", h.Within(2), 0, 1)
+		hold.Same(t, "Size", h.Size(), 8)
 	}
 }
 
 func TestF2Examples(t *testing.T) {
 	f := open(t, 8)
-	same(t, "Add(5, 3)", f.Add(5, 3), 6)
-	same(t, "Mul(5, 3)", f.Mul(5, 3), 4)
-	same(t, "Inv(5)", f.Inv(5), 2)
-	same(t, "Pow(2, 3)", f.Pow(2, 3), 3)
-	same(t, "Log(5)", f.Log(5), 6)
+	hold.Same(t, "Add(5, 3)", f.Add(5, 3), 6)
+	hold.Same(t, "Mul(5, 3)", f.Mul(5, 3), 4)
+	hold.Same(t, "Inv(5)", f.Inv(5), 2)
+	hold.Same(t, "Pow(2, 3)", f.Pow(2, 3), 3)
+	hold.Same(t, "Log(5)", f.Log(5), 6)
 	f = open(t, 9)
-	same(t, "Add(5, 7)", f.Add(5, 7), 0)
-	same(t, "Mul(5, 7)", f.Mul(5, 7), 1)
+	hold.Same(t, "Add(5, 7)", f.Add(5, 7), 0)
+	hold.Same(t, "Mul(5, 7)", f.Mul(5, 7), 1)
 }
 
 func TestF2Inverses(t *testing.T) {
 	for _, c := range all {
 		f := open(t, c.q)
-		same(t, "Inv(0)", f.Inv(0), -1)
-		same(t, "Log(0)", f.Log(0), -1)
+		hold.Same(t, "Inv(0)", f.Inv(0), -1)
+		hold.Same(t, "Log(0)", f.Log(0), -1)
 		for a := range c.q {
-			same(t, "Has", f.Has(a), true)
-			same(t, "a + Neg(a)", f.Add(a, f.Neg(a)), 0)
+			hold.Same(t, "Has", f.Has(a), true)
+			hold.Same(t, "a + Neg(a)", f.Add(a, f.Neg(a)), 0)
 			for b := range c.q {
-				same(t, "Sub(a, b) + b", f.Add(f.Sub(a, b), b), a)
+				hold.Same(t, "Sub(a, b) + b", f.Add(f.Sub(a, b), b), a)
 			}
 			if a > 0 {
-				same(t, "a Inv(a)", f.Mul(a, f.Inv(a)), 1)
-				same(t, "Gen to the Log(a)", f.Pow(f.Gen(), f.Log(a)), a)
-				same(t, "Log(a) is below q - 1", f.Log(a) >= 0 && f.Log(a) < c.q-1, true)
+				hold.Same(t, "a Inv(a)", f.Mul(a, f.Inv(a)), 1)
+				hold.Same(t, "Gen to the Log(a)", f.Pow(f.Gen(), f.Log(a)), a)
+				hold.Same(t, "Log(a) is below q - 1", f.Log(a) >= 0 && f.Log(a) < c.q-1, true)
 			}
 		}
 	}
@@ -229,21 +216,21 @@ func TestF2Powers(t *testing.T) {
 	for _, c := range all {
 		f := open(t, c.q)
 		for a := range c.q {
-			same(t, "Pow(a, 0)", f.Pow(a, 0), 1)
+			hold.Same(t, "Pow(a, 0)", f.Pow(a, 0), 1)
 			up := 1
 			for k := 1; k < 2*c.q; k++ {
 				up = f.Mul(up, a)
-				same(t, "Pow(a, k)", f.Pow(a, k), up)
-				same(t, "Pow(a, -k)", f.Pow(a, -k), f.Inv(up))
+				hold.Same(t, "Pow(a, k)", f.Pow(a, k), up)
+				hold.Same(t, "Pow(a, -k)", f.Pow(a, -k), f.Inv(up))
 			}
 		}
 		for _, k := range []int{math.MaxInt, math.MaxInt - 1, math.MinInt, math.MinInt + 1} {
 			for a := 1; a < c.q; a++ {
-				same(t, "Pow(a, k)", f.Pow(a, k), f.Pow(a, k%(c.q-1)))
+				hold.Same(t, "Pow(a, k)", f.Pow(a, k), f.Pow(a, k%(c.q-1)))
 			}
 		}
-		same(t, "Pow(0, MaxInt)", f.Pow(0, math.MaxInt), 0)
-		same(t, "Pow(0, MinInt)", f.Pow(0, math.MinInt), -1)
+		hold.Same(t, "Pow(0, MaxInt)", f.Pow(0, math.MaxInt), 0)
+		hold.Same(t, "Pow(0, MinInt)", f.Pow(0, math.MinInt), -1)
 	}
 }
 
@@ -254,13 +241,13 @@ func TestF2NoElements(t *testing.T) {
 			if bad >= 0 && bad < c.q {
 				t.Fatalf("%d is an element of %d", bad, c.q)
 			}
-			same(t, "Has", f.Has(bad), false)
+			hold.Same(t, "Has", f.Has(bad), false)
 			for _, v := range []int{
 				f.Add(bad, 1), f.Add(1, bad), f.Sub(bad, 0), f.Sub(0, bad), f.Mul(bad, 0), f.Mul(0, bad), f.Mul(bad, bad),
 				f.Neg(bad), f.Inv(bad), f.Log(bad), f.Pow(bad, 0), f.Pow(bad, 1), f.Pow(bad, -1),
 				f.Frob(bad, 0), f.Frob(bad, 1), f.Frob(bad, -1), f.Trace(bad), f.Norm(bad),
 			} {
-				same(t, "of no element", v, -1)
+				hold.Same(t, "of no element", v, -1)
 			}
 		}
 	}
@@ -272,20 +259,20 @@ func TestF3Frob(t *testing.T) {
 		for a := range c.q {
 			up := a
 			for times := range 2*c.m + 1 {
-				same(t, "Frob", f.Frob(a, times), up)
-				same(t, "Frob back", f.Frob(up, -times), a)
+				hold.Same(t, "Frob", f.Frob(a, times), up)
+				hold.Same(t, "Frob back", f.Frob(up, -times), a)
 				up = f.Pow(up, c.p)
 			}
 			for _, times := range []int{math.MinInt, math.MinInt + 1, math.MaxInt} {
-				same(t, "Frob", f.Frob(a, times), f.Frob(a, times%c.m))
+				hold.Same(t, "Frob", f.Frob(a, times), f.Frob(a, times%c.m))
 			}
 		}
 	}
 }
 
 func TestF3TraceAndNorm(t *testing.T) {
-	same(t, "Trace(5)", open(t, 8).Trace(5), 1)
-	same(t, "Norm(5)", open(t, 8).Norm(5), 1)
+	hold.Same(t, "Trace(5)", open(t, 8).Trace(5), 1)
+	hold.Same(t, "Norm(5)", open(t, 8).Norm(5), 1)
 	for _, c := range all {
 		f := open(t, c.q)
 		for a := range c.q {
@@ -294,17 +281,17 @@ func TestF3TraceAndNorm(t *testing.T) {
 				sum = f.Add(sum, f.Pow(a, power))
 				product = f.Mul(product, f.Pow(a, power))
 			}
-			same(t, "Trace", f.Trace(a), sum)
-			same(t, "Norm", f.Norm(a), product)
-			same(t, "both are of the prime field", f.Trace(a) < c.p && f.Norm(a) < c.p, true)
+			hold.Same(t, "Trace", f.Trace(a), sum)
+			hold.Same(t, "Norm", f.Norm(a), product)
+			hold.Same(t, "both are of the prime field", f.Trace(a) < c.p && f.Norm(a) < c.p, true)
 		}
 	}
 }
 
 func TestF4Within(t *testing.T) {
-	sameList(t, "8 Within(2)", open(t, 8).Within(2), 0, 1)
-	sameList(t, "9 Within(3)", open(t, 9).Within(3), 0, 1, 2)
-	sameList(t, "16 Within(4)", open(t, 16).Within(4), 0, 1, 6, 7)
+	hold.List(t, "8 Within(2)", open(t, 8).Within(2), 0, 1)
+	hold.List(t, "9 Within(3)", open(t, 9).Within(3), 0, 1, 2)
+	hold.List(t, "16 Within(4)", open(t, 16).Within(4), 0, 1, 6, 7)
 	for _, c := range all {
 		f := open(t, c.q)
 		for size := -2; size < 140; size++ {
@@ -318,13 +305,13 @@ func TestF4Within(t *testing.T) {
 						want = append(want, a)
 					}
 				}
-				same(t, "how many there are", len(want), size)
+				hold.Same(t, "how many there are", len(want), size)
 			}
-			sameList(t, "Within", f.Within(size), want...)
+			hold.List(t, "Within", f.Within(size), want...)
 		}
 		for _, size := range extremes {
 			if size != 64 {
-				sameList(t, "Within", f.Within(size))
+				hold.List(t, "Within", f.Within(size))
 			}
 		}
 	}
@@ -340,14 +327,14 @@ func TestF4EmbedErrors(t *testing.T) {
 		{4, 8, api.ErrForm}, {16, 4, api.ErrForm}, {3, 4, api.ErrForm}, {2, 9, api.ErrForm}, {8, 16, api.ErrForm}, {16, 64, api.ErrForm},
 	} {
 		l, e := field.Embed(c.q, c.greater)
-		same(t, "Embed's error", e, c.want)
-		sameList(t, "Embed's list", l)
+		hold.Same(t, "Embed's error", e, c.want)
+		hold.List(t, "Embed's list", l)
 	}
 }
 
 func TestF4Embed(t *testing.T) {
 	l, _ := field.Embed(4, 16)
-	sameList(t, "Embed(4, 16)", l, 0, 1, 6, 7)
+	hold.List(t, "Embed(4, 16)", l, 0, 1, 6, 7)
 	for _, small := range all {
 		for _, great := range all {
 			if small.p == great.p && great.m%small.m == 0 {
@@ -362,16 +349,16 @@ func embedKeeps(t *testing.T, small, great int) {
 	t.Helper()
 	f, g := open(t, small), open(t, great)
 	to, e := field.Embed(small, great)
-	same(t, "Embed's error", e, api.OK)
-	same(t, "how many there are", len(to), small)
+	hold.Same(t, "Embed's error", e, api.OK)
+	hold.Same(t, "how many there are", len(to), small)
 	for a := range small {
 		for b := range small {
-			same(t, "what the sum becomes", to[f.Add(a, b)], g.Add(to[a], to[b]))
-			same(t, "what the product becomes", to[f.Mul(a, b)], g.Mul(to[a], to[b]))
+			hold.Same(t, "what the sum becomes", to[f.Add(a, b)], g.Add(to[a], to[b]))
+			hold.Same(t, "what the product becomes", to[f.Mul(a, b)], g.Mul(to[a], to[b]))
 		}
 	}
 	for a := range f.Char() {
-		same(t, "what a number below p becomes", to[a], a)
+		hold.Same(t, "what a number below p becomes", to[a], a)
 	}
 	if f.Degree() == 1 {
 		return
@@ -382,7 +369,7 @@ func embedKeeps(t *testing.T, small, great int) {
 			sum = g.Add(sum, g.Mul(c, g.Pow(root, i)))
 		}
 		if sum == 0 {
-			same(t, "what x becomes", to[f.Gen()], root)
+			hold.Same(t, "what x becomes", to[f.Gen()], root)
 			return
 		}
 	}

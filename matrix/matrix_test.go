@@ -7,57 +7,11 @@ import (
 
 	"syndrome/api"
 	"syndrome/field"
+	"syndrome/hold"
 	"syndrome/matrix"
 )
 
-// draw tells numbers that look drawn, the same each time.
-type draw uint64
-
-func (d *draw) below(n int) int {
-	*d = *d*6364136223846793005 + 1442695040888963407
-	return int(uint64(*d>>33) % uint64(n))
-}
-
-func (d *draw) list(q, many int) []int {
-	out := make([]int, many)
-	for i := range out {
-		if d.below(3) > 0 { // noughts are what most ways branch by
-			out[i] = d.below(q)
-		}
-	}
-	return out
-}
-
-func (d *draw) matrix(q, rows, columns int) [][]int {
-	out := make([][]int, rows)
-	for i := range out {
-		out[i] = d.list(q, columns)
-	}
-	return out
-}
-
 var sizes = []int{2, 3, 4, 5, 7, 8, 9, 16, 25, 27, 49, 61, 64}
-
-func same(t *testing.T, what string, got, want any) {
-	t.Helper()
-	if got != want {
-		t.Fatalf("%s => %v, want %v", what, got, want)
-	}
-}
-
-func sameList(t *testing.T, what string, got []int, want ...int) {
-	t.Helper()
-	if !slices.Equal(got, want) {
-		t.Fatalf("%s => %v, want %v", what, got, want)
-	}
-}
-
-func sameLists(t *testing.T, what string, got [][]int, want ...[]int) {
-	t.Helper()
-	if !slices.EqualFunc(got, want, slices.Equal) {
-		t.Fatalf("%s => %v, want %v", what, got, want)
-	}
-}
 
 // filled: a matrix with one number at all places.
 func filled(rows, columns, value int) [][]int {
@@ -101,22 +55,6 @@ func product(q int, a, b [][]int) [][]int {
 	return out
 }
 
-// each goes through all lists of so many elements, in order.
-func each(q, many int, see func(x []int)) {
-	x := make([]int, many)
-	for {
-		see(x)
-		i := many - 1
-		for ; i >= 0 && x[i] == q-1; i-- {
-			x[i] = 0
-		}
-		if i < 0 {
-			return
-		}
-		x[i]++
-	}
-}
-
 // isOneForm: is it of the form that M2 tells, with these pivots?
 func isOneForm(rows [][]int, pivots []int) bool {
 	if len(rows) != len(pivots) {
@@ -139,13 +77,13 @@ func isOneForm(rows [][]int, pivots []int) bool {
 // spanned: each sum of multiples of rows, by its text of numbers.
 func spanned(q int, rows [][]int, columns int) map[string]bool {
 	out := map[string]bool{}
-	each(q, len(rows), func(x []int) {
+	for x := range hold.Each(q, len(rows)) {
 		word := make([]int, columns)
 		if len(rows) > 0 {
 			word = product(q, [][]int{x}, rows)[0]
 		}
 		out[text(word)] = true
-	})
+	}
 	return out
 }
 
@@ -189,7 +127,7 @@ func TestM1Check(t *testing.T) {
 		{"far off below", 3, [][]int{{math.MinInt}}, api.ErrValue},
 		{"a row is asked for all ahead of the next", 2, [][]int{{2}, {1, 1}}, api.ErrValue},
 	} {
-		same(t, c.what, matrix.Check(c.q, c.m), c.want)
+		hold.Same(t, c.what, matrix.Check(c.q, c.m), c.want)
 	}
 }
 
@@ -217,7 +155,7 @@ func TestM1AllCallsCheck(t *testing.T) {
 			t.Fatalf("%v may be", c)
 		}
 		for call, e := range says(c.q, c.m) {
-			same(t, call, e, want)
+			hold.Same(t, call, e, want)
 		}
 	}
 }
@@ -232,102 +170,102 @@ func TestM1NothingBesideAnError(t *testing.T) {
 	short, found, _ := matrix.Solve(3, m, []int{0})
 	inverse, _ := matrix.Inverse(2, m)
 	flat, _ := matrix.Inverse(3, [][]int{{1, 1}, {2, 2}})
-	same(t, "how much there is", len(product)+len(rows)+len(pivots)+rank+len(null)+len(x)+len(short)+len(inverse)+len(flat), 0)
-	same(t, "true", ok || found, false)
+	hold.Same(t, "how much there is", len(product)+len(rows)+len(pivots)+rank+len(null)+len(x)+len(short)+len(inverse)+len(flat), 0)
+	hold.Same(t, "true", ok || found, false)
 }
 
 func TestM2Times(t *testing.T) {
-	d := draw(1)
+	d := hold.Draw(1)
 	for range 300 {
-		q := sizes[d.below(len(sizes))]
-		a := d.matrix(q, 1+d.below(5), 1+d.below(5))
-		b := d.matrix(q, len(a[0]), 1+d.below(5))
+		q := sizes[d.Below(len(sizes))]
+		a := d.Matrix(q, 1+d.Below(5), 1+d.Below(5))
+		b := d.Matrix(q, len(a[0]), 1+d.Below(5))
 		got, e := matrix.Times(q, a, b)
-		same(t, "Times", e, api.OK)
-		sameLists(t, "Times", got, product(q, a, b)...)
+		hold.Same(t, "Times", e, api.OK)
+		hold.Lists(t, "Times", got, product(q, a, b)...)
 	}
 	got, e := matrix.Times(5, nil, [][]int{{1, 2}})
-	same(t, "no rows", e, api.OK)
-	same(t, "no rows", len(got), 0)
+	hold.Same(t, "no rows", e, api.OK)
+	hold.Same(t, "no rows", len(got), 0)
 	_, e = matrix.Times(5, [][]int{}, nil)
-	same(t, "no rows, twice", e, api.OK)
+	hold.Same(t, "no rows, twice", e, api.OK)
 	_, e = matrix.Times(5, [][]int{{1}}, nil)
-	same(t, "by no rows", e, api.ErrForm)
+	hold.Same(t, "by no rows", e, api.ErrForm)
 	_, e = matrix.Times(5, [][]int{{1, 2}}, [][]int{{1, 2}})
-	same(t, "too few rows", e, api.ErrForm)
+	hold.Same(t, "too few rows", e, api.ErrForm)
 	_, e = matrix.Times(5, [][]int{{1}}, [][]int{{1}, {2}})
-	same(t, "too many rows", e, api.ErrForm)
+	hold.Same(t, "too many rows", e, api.ErrForm)
 	_, e = matrix.Times(5, [][]int{{1, 2}}, [][]int{{1, 7}})
-	same(t, "no element ahead of form", e, api.ErrValue)
+	hold.Same(t, "no element ahead of form", e, api.ErrValue)
 }
 
 func TestM2Reduce(t *testing.T) {
 	rows, pivots, e := matrix.Reduce(5, [][]int{{0, 2, 4}, {3, 1, 1}, {3, 3, 0}})
-	same(t, "Reduce", e, api.OK)
-	sameLists(t, "Reduce", rows, []int{1, 0, 3}, []int{0, 1, 2})
-	sameList(t, "pivots", pivots, 0, 1)
-	d := draw(2)
+	hold.Same(t, "Reduce", e, api.OK)
+	hold.Lists(t, "Reduce", rows, []int{1, 0, 3}, []int{0, 1, 2})
+	hold.List(t, "pivots", pivots, 0, 1)
+	d := hold.Draw(2)
 	for range 200 {
-		q, columns := []int{2, 3, 4, 5}[d.below(4)], 1+d.below(5)
-		m := d.matrix(q, 1+d.below(4), columns)
+		q, columns := []int{2, 3, 4, 5}[d.Below(4)], 1+d.Below(5)
+		m := d.Matrix(q, 1+d.Below(4), columns)
 		rows, pivots, _ := matrix.Reduce(q, m)
 		if !isOneForm(rows, pivots) {
 			t.Fatalf("Reduce(%d, %v) => %v, %v", q, m, rows, pivots)
 		}
 		before, after := spanned(q, m, columns), spanned(q, rows, columns)
-		same(t, "how many words", len(after), len(before))
+		hold.Same(t, "how many words", len(after), len(before))
 		for word := range after {
-			same(t, "a word of before", before[word], true)
+			hold.Same(t, "a word of before", before[word], true)
 		}
 		rank, e := matrix.Rank(q, m)
-		same(t, "Rank's error", e, api.OK)
-		same(t, "Rank", rank, len(rows))
+		hold.Same(t, "Rank's error", e, api.OK)
+		hold.Same(t, "Rank", rank, len(rows))
 	}
 }
 
 func TestM2Noughts(t *testing.T) {
 	for _, m := range [][][]int{nil, {}, {{0, 0}}, filled(64, 64, 0)} {
 		rows, pivots, e := matrix.Reduce(9, m)
-		same(t, "Reduce's error", e, api.OK)
-		same(t, "rows and pivots", len(rows)+len(pivots), 0)
+		hold.Same(t, "Reduce's error", e, api.OK)
+		hold.Same(t, "rows and pivots", len(rows)+len(pivots), 0)
 		rank, _ := matrix.Rank(9, m)
-		same(t, "Rank", rank, 0)
+		hold.Same(t, "Rank", rank, 0)
 	}
 	null, e := matrix.Null(9, nil)
-	same(t, "Null of no rows", e, api.OK)
-	same(t, "Null of no rows", len(null), 0)
+	hold.Same(t, "Null of no rows", e, api.OK)
+	hold.Same(t, "Null of no rows", len(null), 0)
 	null, _ = matrix.Null(9, [][]int{{0, 0, 0}})
-	sameLists(t, "Null of noughts", null, unit(3)...)
+	hold.Lists(t, "Null of noughts", null, unit(3)...)
 	null, _ = matrix.Null(9, unit(64))
-	same(t, "Null of the unit", len(null), 0)
+	hold.Same(t, "Null of the unit", len(null), 0)
 }
 
 func TestM2Null(t *testing.T) {
-	d := draw(3)
+	d := hold.Draw(3)
 	for range 200 {
-		q, columns := []int{2, 3, 4, 5}[d.below(4)], 1+d.below(5)
-		m := d.matrix(q, 1+d.below(4), columns)
+		q, columns := []int{2, 3, 4, 5}[d.Below(4)], 1+d.Below(5)
+		m := d.Matrix(q, 1+d.Below(4), columns)
 		null, e := matrix.Null(q, m)
-		same(t, "Null's error", e, api.OK)
+		hold.Same(t, "Null's error", e, api.OK)
 		again, _, _ := matrix.Reduce(q, null)
-		sameLists(t, "Null's one form", null, again...)
+		hold.Lists(t, "Null's one form", null, again...)
 		words := spanned(q, null, columns)
-		each(q, columns, func(x []int) {
+		for x := range hold.Each(q, columns) {
 			nought := !slices.ContainsFunc(product(q, m, column(x)), func(v []int) bool { return v[0] != 0 })
-			same(t, "a word of Null", words[text(x)], nought)
-		})
+			hold.Same(t, "a word of Null", words[text(x)], nought)
+		}
 	}
 }
 
 func TestM3Solve(t *testing.T) {
-	d := draw(4)
+	d := hold.Draw(4)
 	for range 150 {
-		q, columns := []int{2, 3, 4, 5}[d.below(4)], 1+d.below(4)
-		m := d.matrix(q, 1+d.below(4), columns)
-		b := d.list(q, len(m))
+		q, columns := []int{2, 3, 4, 5}[d.Below(4)], 1+d.Below(4)
+		m := d.Matrix(q, 1+d.Below(4), columns)
+		b := d.List(q, len(m))
 		_, pivots, _ := matrix.Reduce(q, m)
 		var want []int
-		each(q, columns, func(x []int) {
+		for x := range hold.Each(q, columns) {
 			off := 0
 			for i, v := range x {
 				if v != 0 && !slices.Contains(pivots, i) {
@@ -337,62 +275,62 @@ func TestM3Solve(t *testing.T) {
 			if off == 0 && slices.EqualFunc(product(q, m, column(x)), b, func(v []int, w int) bool { return v[0] == w }) {
 				want = slices.Clone(x)
 			}
-		})
+		}
 		got, ok, e := matrix.Solve(q, m, b)
-		same(t, "Solve's error", e, api.OK)
-		same(t, "is there one", ok, want != nil)
-		sameList(t, "Solve", got, want...)
+		hold.Same(t, "Solve's error", e, api.OK)
+		hold.Same(t, "is there one", ok, want != nil)
+		hold.List(t, "Solve", got, want...)
 	}
 }
 
 func TestM3SolveEdges(t *testing.T) {
 	x, ok, e := matrix.Solve(7, nil, nil)
-	same(t, "no rows", e, api.OK)
-	same(t, "no rows", ok, true)
-	same(t, "no rows", len(x), 0)
+	hold.Same(t, "no rows", e, api.OK)
+	hold.Same(t, "no rows", ok, true)
+	hold.Same(t, "no rows", len(x), 0)
 	_, ok, e = matrix.Solve(7, nil, []int{9})
-	same(t, "a number for no row", e, api.ErrCount)
-	same(t, "a number for no row", ok, false)
+	hold.Same(t, "a number for no row", e, api.ErrCount)
+	hold.Same(t, "a number for no row", ok, false)
 	_, _, e = matrix.Solve(7, [][]int{{1}, {2}}, []int{9})
-	same(t, "count ahead of value", e, api.ErrCount)
+	hold.Same(t, "count ahead of value", e, api.ErrCount)
 	_, _, e = matrix.Solve(7, [][]int{{1}, {2}}, []int{0, 7})
-	same(t, "no element", e, api.ErrValue)
+	hold.Same(t, "no element", e, api.ErrValue)
 	_, _, e = matrix.Solve(7, [][]int{{1}, {2}}, []int{-1, 0})
-	same(t, "below all elements", e, api.ErrValue)
+	hold.Same(t, "below all elements", e, api.ErrValue)
 	x, ok, e = matrix.Solve(7, [][]int{{1, 1}, {2, 2}}, []int{1, 3})
-	same(t, "no x", e, api.OK)
-	same(t, "no x", ok, false)
-	same(t, "no x", len(x), 0)
+	hold.Same(t, "no x", e, api.OK)
+	hold.Same(t, "no x", ok, false)
+	hold.Same(t, "no x", len(x), 0)
 	x, ok, _ = matrix.Solve(64, unit(64), slices.Repeat([]int{63}, 64))
-	same(t, "the greatest", ok, true)
-	sameList(t, "the greatest", x, slices.Repeat([]int{63}, 64)...)
+	hold.Same(t, "the greatest", ok, true)
+	hold.List(t, "the greatest", x, slices.Repeat([]int{63}, 64)...)
 }
 
 func TestM3Inverse(t *testing.T) {
-	d := draw(5)
+	d := hold.Draw(5)
 	for range 200 {
-		q, size := sizes[d.below(len(sizes))], 1+d.below(5)
-		m := d.matrix(q, size, size)
+		q, size := sizes[d.Below(len(sizes))], 1+d.Below(5)
+		m := d.Matrix(q, size, size)
 		rank, _ := matrix.Rank(q, m)
 		inverse, e := matrix.Inverse(q, m)
 		if rank < size {
-			same(t, "of less rank", e, api.ErrRank)
-			same(t, "of less rank", len(inverse), 0)
+			hold.Same(t, "of less rank", e, api.ErrRank)
+			hold.Same(t, "of less rank", len(inverse), 0)
 			continue
 		}
-		same(t, "Inverse's error", e, api.OK)
-		sameLists(t, "before it", product(q, inverse, m), unit(size)...)
-		sameLists(t, "behind it", product(q, m, inverse), unit(size)...)
+		hold.Same(t, "Inverse's error", e, api.OK)
+		hold.Lists(t, "before it", product(q, inverse, m), unit(size)...)
+		hold.Lists(t, "behind it", product(q, m, inverse), unit(size)...)
 	}
 	inverse, e := matrix.Inverse(64, unit(64))
-	same(t, "the greatest", e, api.OK)
-	sameLists(t, "the greatest", inverse, unit(64)...)
+	hold.Same(t, "the greatest", e, api.OK)
+	hold.Lists(t, "the greatest", inverse, unit(64)...)
 	inverse, e = matrix.Inverse(2, nil)
-	same(t, "of nothing", e, api.OK)
-	same(t, "of nothing", len(inverse), 0)
+	hold.Same(t, "of nothing", e, api.OK)
+	hold.Same(t, "of nothing", len(inverse), 0)
 	for _, m := range [][][]int{{{0, 0}}, {{0}, {0}}} {
 		_, e = matrix.Inverse(2, m)
-		same(t, "not as many columns as rows", e, api.ErrForm)
+		hold.Same(t, "not as many columns as rows", e, api.ErrForm)
 	}
 }
 
@@ -414,18 +352,8 @@ func TestListsAreTheCallers(t *testing.T) {
 	}
 	x, _, _ := matrix.Solve(5, unit(3), b)
 	outs = append(outs, x)
-	before := make([][]int, len(outs))
-	for i := range outs {
-		before[i] = slices.Clone(outs[i])
-	}
-	for i, l := range outs {
-		sameLists(t, "lists that weren't written into", outs[i:], before[i:]...)
-		l = l[:cap(l)] // what stands behind its end is the caller's, too
-		for j := range l {
-			l[j] = 77
-		}
-	}
-	sameLists(t, "what was handed in", m, twin...)
-	sameList(t, "what was handed in", flat, 1, 2, 3)
-	sameList(t, "what was handed in", b, 1, 2, 3)
+	hold.Apart(t, outs...)
+	hold.Lists(t, "what was handed in", m, twin...)
+	hold.List(t, "what was handed in", flat, 1, 2, 3)
+	hold.List(t, "what was handed in", b, 1, 2, 3)
 }

@@ -8,47 +8,11 @@ import (
 
 	"syndrome/api"
 	"syndrome/field"
+	"syndrome/hold"
 	"syndrome/poly"
 )
 
-// draw tells numbers that look drawn, the same each time.
-type draw uint64
-
-func (d *draw) below(n int) int {
-	*d = *d*6364136223846793005 + 1442695040888963407
-	return int(uint64(*d>>33) % uint64(n))
-}
-
-func (d *draw) poly(q, many int) []int {
-	out := make([]int, many)
-	for i := range out {
-		out[i] = d.below(q)
-	}
-	return out
-}
-
 var sizes = []int{2, 3, 4, 5, 7, 8, 9, 16, 25, 27, 49, 61, 64}
-
-func same(t *testing.T, what string, got, want any) {
-	t.Helper()
-	if got != want {
-		t.Fatalf("%s => %v, want %v", what, got, want)
-	}
-}
-
-func sameList(t *testing.T, what string, got []int, want ...int) {
-	t.Helper()
-	if !slices.Equal(got, want) {
-		t.Fatalf("%s => %v, want %v", what, got, want)
-	}
-}
-
-func sameLists(t *testing.T, what string, got [][]int, want ...[]int) {
-	t.Helper()
-	if !slices.EqualFunc(got, want, slices.Equal) {
-		t.Fatalf("%s => %v, want %v", what, got, want)
-	}
-}
 
 // plain: a list without noughts at its end.
 func plain(a []int) []int {
@@ -67,7 +31,7 @@ func ones(many, noughts int) []int {
 func sum(t *testing.T, q int, a, b, c []int) []int {
 	t.Helper()
 	f, e := field.New(q)
-	same(t, "New", e, api.OK)
+	hold.Same(t, "New", e, api.OK)
 	out := make([]int, len(a)+len(b)+len(c))
 	copy(out, a)
 	for i := range b {
@@ -103,7 +67,7 @@ func TestP1Check(t *testing.T) {
 		{2, []int{0, 2}, api.ErrValue}, {5, []int{-1}, api.ErrValue}, {5, []int{5}, api.ErrValue},
 		{64, []int{0, math.MaxInt}, api.ErrValue}, {64, []int{math.MinInt}, api.ErrValue},
 	} {
-		same(t, "Check", poly.Check(c.q, c.a), c.want)
+		hold.Same(t, "Check", poly.Check(c.q, c.a), c.want)
 	}
 }
 
@@ -119,7 +83,7 @@ func TestP1AllCallsCheckInOrder(t *testing.T) {
 		{5, nil, wrong, api.ErrValue}, {5, wrong, nil, api.ErrValue}, {5, wrong, []int{1}, api.ErrValue},
 	} {
 		for name, e := range says(c.q, c.a, c.b) {
-			same(t, name, e, c.want)
+			hold.Same(t, name, e, c.want)
 		}
 	}
 	for _, c := range []struct {
@@ -131,7 +95,7 @@ func TestP1AllCallsCheckInOrder(t *testing.T) {
 		{5, 5, good, api.ErrValue}, {5, -1, good, api.ErrValue}, {5, 5, nil, api.ErrValue}, {5, 4, good, api.OK},
 	} {
 		_, e := poly.At(c.q, c.a, c.x)
-		same(t, "At", e, c.want)
+		hold.Same(t, "At", e, c.want)
 	}
 	for _, c := range []struct {
 		q    int
@@ -139,12 +103,12 @@ func TestP1AllCallsCheckInOrder(t *testing.T) {
 		want api.Errno
 	}{{6, nil, api.ErrField}, {5, long, api.ErrLimit}, {5, wrong, api.ErrValue}, {5, nil, api.ErrZero}, {5, []int{0, 0}, api.ErrZero}} {
 		roots, e := poly.Roots(c.q, c.a)
-		same(t, "Roots", e, c.want)
+		hold.Same(t, "Roots", e, c.want)
 		factors, e := poly.Factors(c.q, c.a)
-		same(t, "Factors", e, c.want)
+		hold.Same(t, "Factors", e, c.want)
 		ok, e := poly.Irreducible(c.q, c.a)
-		same(t, "Irreducible", e, c.want)
-		same(t, "nothing beside an error", len(roots) == 0 && len(factors) == 0 && !ok, true)
+		hold.Same(t, "Irreducible", e, c.want)
+		hold.Same(t, "nothing beside an error", len(roots) == 0 && len(factors) == 0 && !ok, true)
 	}
 }
 
@@ -165,22 +129,22 @@ func TestP2NothingBesideAnError(t *testing.T) {
 }
 
 func TestP2SumsAndProducts(t *testing.T) {
-	d := draw(1)
+	d := hold.Draw(1)
 	for _, q := range sizes {
 		for range 60 {
-			a, b := d.poly(q, d.below(9)), d.poly(q, d.below(9))
+			a, b := d.List(q, d.Below(9)), d.List(q, d.Below(9))
 			got, e := poly.Add(q, a, b)
-			same(t, "Add's error", e, api.OK)
-			sameList(t, "Add", got, sum(t, q, a, b, []int{1})...)
+			hold.Same(t, "Add's error", e, api.OK)
+			hold.List(t, "Add", got, sum(t, q, a, b, []int{1})...)
 			got, e = poly.Mul(q, a, b)
-			same(t, "Mul's error", e, api.OK)
-			sameList(t, "Mul", got, sum(t, q, nil, a, b)...)
+			hold.Same(t, "Mul's error", e, api.OK)
+			hold.List(t, "Mul", got, sum(t, q, nil, a, b)...)
 		}
 	}
 	got, _ := poly.Add(2, []int{1, 1}, []int{0, 1, 0})
-	sameList(t, "noughts at the end", got, 1)
+	hold.List(t, "noughts at the end", got, 1)
 	got, _ = poly.Add(2, []int{1, 1}, []int{1, 1})
-	sameList(t, "nothing left", got)
+	hold.List(t, "nothing left", got)
 }
 
 func TestP2ProductLimit(t *testing.T) {
@@ -194,73 +158,73 @@ func TestP2ProductLimit(t *testing.T) {
 		{ones(64, 64), ones(65, 63), api.OK, 128}, {ones(128, 0), ones(2, 0), api.ErrLimit, 0},
 	} {
 		got, e := poly.Mul(3, c.a, c.b)
-		same(t, "Mul's error", e, c.want)
-		same(t, "how many there are", len(got), c.many)
+		hold.Same(t, "Mul's error", e, c.want)
+		hold.Same(t, "how many there are", len(got), c.many)
 	}
 }
 
 func TestP2Div(t *testing.T) {
-	d := draw(2)
+	d := hold.Draw(2)
 	for _, q := range sizes {
 		for range 80 {
-			a, b := d.poly(q, d.below(10)), d.poly(q, d.below(7))
+			a, b := d.List(q, d.Below(10)), d.List(q, d.Below(7))
 			quot, rest, e := poly.Div(q, a, b)
 			if len(plain(b)) == 0 {
-				same(t, "Div by 0", e, api.ErrZero)
+				hold.Same(t, "Div by 0", e, api.ErrZero)
 				continue
 			}
-			same(t, "Div's error", e, api.OK)
-			sameList(t, "quot b + rest", sum(t, q, rest, quot, b), plain(a)...)
-			same(t, "rest has fewer", len(rest) < len(plain(b)), true)
-			sameList(t, "quot without noughts", quot, plain(quot)...)
-			sameList(t, "rest without noughts", rest, plain(rest)...)
+			hold.Same(t, "Div's error", e, api.OK)
+			hold.List(t, "quot b + rest", sum(t, q, rest, quot, b), plain(a)...)
+			hold.Same(t, "rest has fewer", len(rest) < len(plain(b)), true)
+			hold.List(t, "quot without noughts", quot, plain(quot)...)
+			hold.List(t, "rest without noughts", rest, plain(rest)...)
 		}
 	}
 	for _, zero := range [][]int{nil, {}, {0}, {0, 0, 0}} {
 		_, _, e := poly.Div(7, []int{1, 2}, zero)
-		same(t, "Div by 0", e, api.ErrZero)
+		hold.Same(t, "Div by 0", e, api.ErrZero)
 	}
 }
 
 func TestP2Gcd(t *testing.T) {
-	d := draw(3)
+	d := hold.Draw(3)
 	for _, q := range sizes {
 		for range 40 {
-			shared := append(d.poly(q, d.below(4)), 1)
-			a, b := sum(t, q, nil, shared, d.poly(q, d.below(5))), sum(t, q, nil, shared, d.poly(q, d.below(5)))
+			shared := append(d.List(q, d.Below(4)), 1)
+			a, b := sum(t, q, nil, shared, d.List(q, d.Below(5))), sum(t, q, nil, shared, d.List(q, d.Below(5)))
 			got, e := poly.Gcd(q, a, b)
-			same(t, "Gcd's error", e, api.OK)
+			hold.Same(t, "Gcd's error", e, api.OK)
 			if len(a)+len(b) == 0 {
-				sameList(t, "Gcd of 0 and 0", got)
+				hold.List(t, "Gcd of 0 and 0", got)
 				continue
 			}
-			same(t, "its last coefficient", got[len(got)-1], 1)
+			hold.Same(t, "its last coefficient", got[len(got)-1], 1)
 			for _, c := range [][]int{a, b} {
 				_, rest, _ := poly.Div(q, c, got)
-				sameList(t, "what it leaves", rest)
+				hold.List(t, "what it leaves", rest)
 			}
 			_, rest, _ := poly.Div(q, got, shared)
-			sameList(t, "what the shared part leaves of it", rest)
+			hold.List(t, "what the shared part leaves of it", rest)
 			left, _, _ := poly.Div(q, a, got)
 			right, _, _ := poly.Div(q, b, got)
 			again, _ := poly.Gcd(q, left, right)
-			sameList(t, "what both still share", again, 1)
+			hold.List(t, "what both still share", again, 1)
 		}
 	}
 	got, _ := poly.Gcd(5, []int{0, 0}, nil)
-	sameList(t, "Gcd(0, 0)", got)
+	hold.List(t, "Gcd(0, 0)", got)
 	got, _ = poly.Gcd(5, []int{2, 4, 0}, nil)
-	sameList(t, "Gcd(a, 0)", got, 3, 1)
+	hold.List(t, "Gcd(a, 0)", got, 3, 1)
 	got, _ = poly.Gcd(5, nil, []int{2, 4})
-	sameList(t, "Gcd(0, b)", got, 3, 1)
+	hold.List(t, "Gcd(0, b)", got, 3, 1)
 }
 
 func TestP2AtAndRoots(t *testing.T) {
-	d := draw(4)
+	d := hold.Draw(4)
 	for _, q := range sizes {
 		f, _ := field.New(q)
 		for range 20 {
-			a := d.poly(q, 1+d.below(6))
+			a := d.List(q, 1+d.Below(6))
 			var zeros []int
 			for x := range q {
 				want := 0
@@ -268,34 +232,34 @@ func TestP2AtAndRoots(t *testing.T) {
 					want = f.Add(want, f.Mul(c, f.Pow(x, i)))
 				}
 				got, e := poly.At(q, a, x)
-				same(t, "At's error", e, api.OK)
-				same(t, "At", got, want)
+				hold.Same(t, "At's error", e, api.OK)
+				hold.Same(t, "At", got, want)
 				if want == 0 {
 					zeros = append(zeros, x)
 				}
 			}
 			got, e := poly.Roots(q, a)
 			if len(plain(a)) == 0 {
-				same(t, "Roots of 0", e, api.ErrZero)
+				hold.Same(t, "Roots of 0", e, api.ErrZero)
 				continue
 			}
-			same(t, "Roots' error", e, api.OK)
-			sameList(t, "Roots", got, zeros...)
+			hold.Same(t, "Roots' error", e, api.OK)
+			hold.List(t, "Roots", got, zeros...)
 		}
 	}
 	got, e := poly.At(7, nil, 6)
-	same(t, "At of 0", got, 0)
-	same(t, "At of 0, error", e, api.OK)
+	hold.Same(t, "At of 0", got, 0)
+	hold.Same(t, "At of 0, error", e, api.OK)
 }
 
 func TestP2Through(t *testing.T) {
 	got, _ := poly.Through(7, []int{0, 1, 2}, []int{1, 3, 0})
-	sameList(t, "Through", got, 1, 1, 1)
+	hold.List(t, "Through", got, 1, 1, 1)
 	got, e := poly.Through(7, nil, nil)
-	sameList(t, "Through nothing", got)
-	same(t, "Through nothing, error", e, api.OK)
+	hold.List(t, "Through nothing", got)
+	hold.Same(t, "Through nothing, error", e, api.OK)
 	for _, q := range sizes {
-		d := draw(q)
+		d := hold.Draw(q)
 		for many := range q + 1 {
 			xs := make([]int, many)
 			for i := range xs {
@@ -304,14 +268,14 @@ func TestP2Through(t *testing.T) {
 			slices.Sort(xs)
 			xs = slices.Compact(xs)
 			slices.Reverse(xs)
-			ys := d.poly(q, len(xs))
+			ys := d.List(q, len(xs))
 			got, e := poly.Through(q, xs, ys)
-			same(t, "Through's error", e, api.OK)
-			same(t, "its degree is below the count", len(got) <= len(xs), true)
-			sameList(t, "Through without noughts", got, plain(got)...)
+			hold.Same(t, "Through's error", e, api.OK)
+			hold.Same(t, "its degree is below the count", len(got) <= len(xs), true)
+			hold.List(t, "Through without noughts", got, plain(got)...)
 			for i, x := range xs {
 				y, _ := poly.At(q, got, x)
-				same(t, "the value", y, ys[i])
+				hold.Same(t, "the value", y, ys[i])
 			}
 		}
 	}
@@ -328,7 +292,7 @@ func TestP2ThroughErrors(t *testing.T) {
 		{64, make([]int, 128), make([]int, 128), api.ErrTwice}, {5, []int{5}, []int{0, 0}, api.ErrValue}, {5, []int{0, 0}, []int{7}, api.ErrValue},
 	} {
 		_, e := poly.Through(c.q, c.xs, c.ys)
-		same(t, "Through's error", e, c.want)
+		hold.Same(t, "Through's error", e, c.want)
 	}
 }
 
@@ -358,34 +322,34 @@ func stands(q int, a []int) bool {
 
 func TestP3Examples(t *testing.T) {
 	got, _ := poly.Factors(2, []int{1, 0, 0, 0, 0, 0, 0, 1})
-	sameLists(t, "x^7 - 1 over 2", got, []int{1, 1}, []int{1, 0, 1, 1}, []int{1, 1, 0, 1})
+	hold.Lists(t, "x^7 - 1 over 2", got, []int{1, 1}, []int{1, 0, 1, 1}, []int{1, 1, 0, 1})
 	got, _ = poly.Factors(5, []int{0, 0, 0, 3, 0})
-	sameLists(t, "3 x^3", got, []int{0, 1}, []int{0, 1}, []int{0, 1})
+	hold.Lists(t, "3 x^3", got, []int{0, 1}, []int{0, 1}, []int{0, 1})
 	got, _ = poly.Factors(3, []int{1, 0, 2, 0, 1})
-	sameLists(t, "a square", got, []int{1, 0, 1}, []int{1, 0, 1})
+	hold.Lists(t, "a square", got, []int{1, 0, 1}, []int{1, 0, 1})
 	got, e := poly.Factors(7, []int{4, 0})
-	sameLists(t, "a number", got)
-	same(t, "a number, error", e, api.OK)
+	hold.Lists(t, "a number", got)
+	hold.Same(t, "a number, error", e, api.OK)
 }
 
 func TestP3Factors(t *testing.T) {
-	d := draw(5)
+	d := hold.Draw(5)
 	for _, c := range []struct{ q, most int }{{2, 11}, {3, 7}, {4, 6}, {5, 5}, {7, 5}, {9, 4}, {16, 4}, {27, 3}, {64, 3}} {
 		for range 25 {
-			a := append(d.poly(c.q, d.below(c.most)), 1+d.below(c.q-1))
+			a := append(d.List(c.q, d.Below(c.most)), 1+d.Below(c.q-1))
 			got, e := poly.Factors(c.q, a)
-			same(t, "Factors' error", e, api.OK)
-			same(t, "they are in order", slices.IsSortedFunc(got, inOrder), true)
+			hold.Same(t, "Factors' error", e, api.OK)
+			hold.Same(t, "they are in order", slices.IsSortedFunc(got, inOrder), true)
 			product := a[len(a)-1:]
 			for _, p := range got {
-				same(t, "its last coefficient", p[len(p)-1], 1)
-				same(t, "it can't be parted", stands(c.q, p), true)
+				hold.Same(t, "its last coefficient", p[len(p)-1], 1)
+				hold.Same(t, "it can't be parted", stands(c.q, p), true)
 				product = sum(t, c.q, nil, product, p)
 			}
-			sameList(t, "their product", product, a...)
+			hold.List(t, "their product", product, a...)
 			one, e := poly.Irreducible(c.q, a)
-			same(t, "Irreducible's error", e, api.OK)
-			same(t, "Irreducible", one, stands(c.q, a))
+			hold.Same(t, "Irreducible's error", e, api.OK)
+			hold.Same(t, "Irreducible", one, stands(c.q, a))
 		}
 	}
 }
@@ -394,22 +358,22 @@ func TestP3Limit(t *testing.T) {
 	power := func(n, noughts int) []int { return append(append(make([]int, n), 1), make([]int, noughts)...) }
 	for _, c := range []struct{ q, degree int }{{2, 25}, {3, 15}, {4, 13}, {8, 9}, {16, 7}, {64, 5}, {61, 5}, {7, 9}} {
 		got, e := poly.Factors(c.q, power(c.degree, 3))
-		same(t, "Factors' error", e, api.OK)
-		same(t, "how many there are", len(got), c.degree)
+		hold.Same(t, "Factors' error", e, api.OK)
+		hold.Same(t, "how many there are", len(got), c.degree)
 		for _, degree := range []int{c.degree + 1, 127} {
 			got, e = poly.Factors(c.q, power(degree, 0))
-			same(t, "Factors' error", e, api.ErrLimit)
-			sameLists(t, "nothing beside it", got)
+			hold.Same(t, "Factors' error", e, api.ErrLimit)
+			hold.Lists(t, "nothing beside it", got)
 			ok, e := poly.Irreducible(c.q, power(degree, 0))
-			same(t, "Irreducible's error", e, api.ErrLimit)
-			same(t, "nothing beside it", ok, false)
+			hold.Same(t, "Irreducible's error", e, api.ErrLimit)
+			hold.Same(t, "nothing beside it", ok, false)
 		}
 	}
 	// The hardest that is still asked for: one of degree 25, and nothing divides it.
 	hard := append(append([]int{1, 0, 0, 1}, make([]int, 21)...), 1)
 	got, e := poly.Factors(2, hard)
-	same(t, "Factors' error", e, api.OK)
-	sameLists(t, "x^25 + x^3 + 1", got, hard)
+	hold.Same(t, "Factors' error", e, api.OK)
+	hold.Lists(t, "x^25 + x^3 + 1", got, hard)
 }
 
 func TestP3Irreducible(t *testing.T) {
@@ -422,13 +386,13 @@ func TestP3Irreducible(t *testing.T) {
 		{5, []int{3, 2}, true}, {3, []int{2, 0, 2, 0}, true}, {7, []int{0, 1}, true}, {7, []int{0, 0, 1}, false},
 	} {
 		got, e := poly.Irreducible(c.q, c.a)
-		same(t, "Irreducible's error", e, api.OK)
-		same(t, "Irreducible", got, c.want)
+		hold.Same(t, "Irreducible's error", e, api.OK)
+		hold.Same(t, "Irreducible", got, c.want)
 	}
 	for _, q := range sizes {
 		if f, _ := field.New(q); f.Degree() > 1 {
 			got, _ := poly.Irreducible(f.Char(), f.Poly())
-			same(t, "a modulus can't be parted", got, true)
+			hold.Same(t, "a modulus can't be parted", got, true)
 		}
 	}
 }
@@ -454,19 +418,7 @@ func TestListsAreTheCallers(t *testing.T) {
 	outs = append(outs, parts...)
 	roots, _ := poly.Roots(5, a)
 	outs = append(outs, roots)
-	before := make([][]int, len(outs))
-	for i := range outs {
-		before[i] = slices.Clone(outs[i])
-	}
-	for i, l := range outs {
-		for j := i; j < len(outs); j++ {
-			sameList(t, "a list that wasn't written into", outs[j], before[j]...)
-		}
-		l = l[:cap(l)] // what stands behind its end is the caller's, too
-		for j := range l {
-			l[j] = 77
-		}
-	}
-	sameList(t, "what was handed in", back, 1, 2, 1, 0, 4, 4, 4)
-	sameList(t, "what was handed in", b, 1, 1, 0)
+	hold.Apart(t, outs...)
+	hold.List(t, "what was handed in", back, 1, 2, 1, 0, 4, 4, 4)
+	hold.List(t, "what was handed in", b, 1, 1, 0)
 }
