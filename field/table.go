@@ -1,19 +1,6 @@
 package field
 
-import (
-	"sync"
-
-	"syndrome/api"
-)
-
-// slot: room for the table of one size.
-type slot struct {
-	once sync.Once
-	made *table
-}
-
-// shelf has a slot for each size; what stands there is put there once, when a field of that size is asked for first.
-var shelf [api.MaxQ + 1]slot
+import "syndrome/api"
 
 // table: what a field's calls look up.
 type table struct {
