@@ -70,11 +70,30 @@ func (d *Draw) List(below, many int) []int {
 	return out
 }
 
-// Matrix is one of such lists.
+// Different is a list of so many numbers below one, no two of them alike.
+func (d *Draw) Different(below, many int) []int {
+	out := UpTo(below)
+	for i := range many {
+		j := i + d.Below(below-i)
+		out[i], out[j] = out[j], out[i]
+	}
+	return out[:many]
+}
+
+// Matrix is one of lists of such numbers.
 func (d *Draw) Matrix(below, rows, columns int) [][]int {
 	out := make([][]int, rows)
 	for i := range out {
 		out[i] = d.List(below, columns)
+	}
+	return out
+}
+
+// UpTo are the numbers 0, 1, 2, .., so many.
+func UpTo(many int) []int {
+	out := make([]int, many)
+	for i := range out {
+		out[i] = i
 	}
 	return out
 }

@@ -61,3 +61,20 @@ func TestDraw(t *testing.T) {
 		}
 	}
 }
+
+func TestUpTo(t *testing.T) {
+	hold.List(t, "UpTo", hold.UpTo(4), 0, 1, 2, 3)
+	hold.List(t, "UpTo of no number", hold.UpTo(0))
+}
+
+func TestDifferent(t *testing.T) {
+	d := hold.Draw(1)
+	for many := range 10 {
+		got := d.Different(9, many)
+		hold.Same(t, "how many", len(got), many)
+		for i, v := range got {
+			hold.Same(t, "from 0 to 8", v >= 0 && v < 9, true)
+			hold.Same(t, "alike", slices.Contains(got[:i], v), false)
+		}
+	}
+}
