@@ -27,13 +27,6 @@ func codeOf(d *hold.Draw, q, n int) api.Code {
 	return c
 }
 
-func sameCode(t *testing.T, what string, got, want api.Code) {
-	t.Helper()
-	if got.Q != want.Q || got.N != want.N || !slices.EqualFunc(got.Rows, want.Rows, slices.Equal) {
-		t.Fatalf("%s => %v, want %v", what, got, want)
-	}
-}
-
 // sums: the sum of multiples of rows.
 func sums(c api.Code, message []int) []int {
 	f, _ := field.New(c.Q)
@@ -82,7 +75,7 @@ func isCode(t *testing.T, what string, got api.Code, q, n int, words map[string]
 	hold.Same(t, what+": N", got.N, n)
 	rows, _, e := matrix.Reduce(got.Q, got.Rows)
 	hold.Same(t, what+": error", e, api.OK)
-	sameCode(t, what+": its one form", got, api.Code{Q: q, N: n, Rows: rows})
+	hold.Code(t, what+": its one form", got, api.Code{Q: q, N: n, Rows: rows})
 	told := wordsOf(got)
 	hold.Same(t, what+": words", len(told), len(words))
 	for k := range told {
@@ -94,17 +87,6 @@ func isCode(t *testing.T, what string, got api.Code, q, n int, words map[string]
 
 var hamming = api.Code{Q: 2, N: 7, Rows: [][]int{{1, 1, 0, 1, 0, 0, 0}, {0, 1, 1, 0, 1, 0, 0}, {0, 0, 1, 1, 0, 1, 0}, {0, 0, 0, 1, 1, 0, 1}}}
 
-// unit: the code of all words.
-func unit(q, n int) api.Code {
-	c := api.Code{Q: q, N: n}
-	for i := range n {
-		row := make([]int, n)
-		row[i] = 1
-		c.Rows = append(c.Rows, row)
-	}
-	return c
-}
-
 func TestC1Check(t *testing.T) {
 	for _, c := range []struct {
 		what string
@@ -113,7 +95,7 @@ func TestC1Check(t *testing.T) {
 	}{
 		{"no rows", api.Code{Q: 2, N: 1}, api.OK},
 		{"Hamming's", hamming, api.OK},
-		{"the greatest", unit(64, 64), api.OK},
+		{"the greatest", hold.AllWords(64, 64), api.OK},
 		{"nothing", api.Code{}, api.ErrField},
 		{"no field ahead of a length", api.Code{Q: 6, N: 0}, api.ErrField},
 		{"no length", api.Code{Q: 2, N: 0}, api.ErrLimit},
@@ -173,23 +155,23 @@ func TestC1NothingBesideAnError(t *testing.T) {
 	bad := api.Code{Q: 2, N: 2, Rows: [][]int{{1, 2}}}
 	keep := func(c api.Code, e api.Errno) {
 		t.Helper()
-		sameCode(t, "a code beside an error", c, api.Code{})
+		hold.Code(t, "a code beside an error", c, api.Code{})
 		hold.Same(t, "an error", e != api.OK, true)
 	}
 	keep(code.Make(bad))
 	keep(code.Dual(bad))
 	keep(code.Puncture(hamming, 7))
 	keep(code.Shorten(hamming, 7))
-	keep(code.Extend(unit(2, 64)))
-	keep(code.Sum(hamming, unit(3, 7)))
-	keep(code.Meet(hamming, unit(2, 6)))
+	keep(code.Extend(hold.AllWords(2, 64)))
+	keep(code.Sum(hamming, hold.AllWords(3, 7)))
+	keep(code.Meet(hamming, hold.AllWords(2, 6)))
 	keep(code.Parse("2 3\n1 1 1\n1 1"))
 	keep(code.Parse("2 3\n1 1 1\n1 1 01"))
 	word, _ := code.Encode(hamming, nil)
 	syndrome, _ := code.Syndrome(hamming, nil)
 	has, _ := code.Has(hamming, nil)
-	weights, _ := code.Weights(unit(2, 13))
-	distance, _ := code.Distance(unit(2, 13))
+	weights, _ := code.Weights(hold.AllWords(2, 13))
+	distance, _ := code.Distance(hold.AllWords(2, 13))
 	near, off, _ := code.Nearest(hamming, nil)
 	text, _ := code.Print(bad)
 	hold.Same(t, "how much there is", len(word)+len(syndrome)+len(weights)+distance+len(near)+off+len(text), 0)
@@ -215,14 +197,14 @@ func TestC1MakeAndDual(t *testing.T) {
 		hold.Same(t, "Dual's error", e, api.OK)
 		isCode(t, "Dual", dual, c.Q, c.N, noughts)
 		again, _ := code.Dual(dual)
-		sameCode(t, "the dual's dual", again, one)
+		hold.Code(t, "the dual's dual", again, one)
 	}
 	none, _ := code.Make(api.Code{Q: 9, N: 64, Rows: [][]int{make([]int, 64)}})
-	sameCode(t, "Make of noughts", none, api.Code{Q: 9, N: 64})
+	hold.Code(t, "Make of noughts", none, api.Code{Q: 9, N: 64})
 	all, _ := code.Dual(none)
-	sameCode(t, "Dual of noughts", all, unit(9, 64))
+	hold.Code(t, "Dual of noughts", all, hold.AllWords(9, 64))
 	none, _ = code.Dual(all)
-	sameCode(t, "Dual of all", none, api.Code{Q: 9, N: 64})
+	hold.Code(t, "Dual of all", none, api.Code{Q: 9, N: 64})
 }
 
 func TestC2Encode(t *testing.T) {
@@ -266,7 +248,7 @@ func TestC2SyndromeAndHas(t *testing.T) {
 			hold.Same(t, "Has", has, words[key(x)] != nil)
 		}
 	}
-	s, e = code.Syndrome(unit(3, 2), []int{1, 2})
+	s, e = code.Syndrome(hold.AllWords(3, 2), []int{1, 2})
 	hold.Same(t, "of all words", e, api.OK)
 	hold.Same(t, "of all words", len(s), 0)
 }
@@ -330,8 +312,8 @@ func TestC3Limit(t *testing.T) {
 		c    api.Code
 		want api.Errno
 	}{
-		{unit(2, 12), api.OK}, {unit(64, 2), api.OK}, {unit(2, 13), api.ErrLimit}, {unit(64, 3), api.ErrLimit},
-		{unit(3, 7), api.OK}, {unit(3, 8), api.ErrLimit}, {unit(64, 64), api.ErrLimit}, {unit(2, 64), api.ErrLimit},
+		{hold.AllWords(2, 12), api.OK}, {hold.AllWords(64, 2), api.OK}, {hold.AllWords(2, 13), api.ErrLimit}, {hold.AllWords(64, 3), api.ErrLimit},
+		{hold.AllWords(3, 7), api.OK}, {hold.AllWords(3, 8), api.ErrLimit}, {hold.AllWords(64, 64), api.ErrLimit}, {hold.AllWords(2, 64), api.ErrLimit},
 		{api.Code{Q: 2, N: 1, Rows: slices.Repeat([][]int{{1}}, 64)}, api.OK}, // many rows, two words
 	} {
 		_, e := code.Weights(c.c)
@@ -341,7 +323,7 @@ func TestC3Limit(t *testing.T) {
 		_, _, e = code.Nearest(c.c, make([]int, c.c.N))
 		hold.Same(t, "Nearest", e, c.want)
 	}
-	_, _, e := code.Nearest(unit(2, 13), []int{7})
+	_, _, e := code.Nearest(hold.AllWords(2, 13), []int{7})
 	hold.Same(t, "the limit ahead of the word", e, api.ErrLimit)
 }
 
@@ -404,7 +386,7 @@ func TestC4PunctureAndShorten(t *testing.T) {
 		want  api.Errno
 	}{
 		{hamming, -1, api.ErrPlace}, {hamming, 7, api.ErrPlace}, {hamming, math.MinInt, api.ErrPlace}, {hamming, 0, api.OK}, {hamming, 6, api.OK},
-		{unit(2, 1), 1, api.ErrPlace}, {unit(2, 1), 0, api.ErrLimit}, {api.Code{Q: 2, N: 1}, 0, api.ErrLimit}, {unit(64, 64), 63, api.OK},
+		{hold.AllWords(2, 1), 1, api.ErrPlace}, {hold.AllWords(2, 1), 0, api.ErrLimit}, {api.Code{Q: 2, N: 1}, 0, api.ErrLimit}, {hold.AllWords(64, 64), 63, api.OK},
 	} {
 		_, e := code.Puncture(c.c, c.place)
 		hold.Same(t, "Puncture", e, c.want)
@@ -415,7 +397,7 @@ func TestC4PunctureAndShorten(t *testing.T) {
 
 func TestC4Extend(t *testing.T) {
 	got, _ := code.Extend(api.Code{Q: 3, N: 4, Rows: [][]int{{1, 0, 1, 1}, {0, 1, 1, 2}}})
-	sameCode(t, "Extend", got, api.Code{Q: 3, N: 5, Rows: [][]int{{1, 0, 1, 1, 0}, {0, 1, 1, 2, 2}}})
+	hold.Code(t, "Extend", got, api.Code{Q: 3, N: 5, Rows: [][]int{{1, 0, 1, 1, 0}, {0, 1, 1, 2, 2}}})
 	d := hold.Draw(6)
 	for range 100 {
 		c := anyCode(&d)
@@ -433,11 +415,11 @@ func TestC4Extend(t *testing.T) {
 		hold.Same(t, "Extend's error", e, api.OK)
 		isCode(t, "Extend", got, c.Q, c.N+1, want)
 	}
-	_, e := code.Extend(unit(2, 64))
+	_, e := code.Extend(hold.AllWords(2, 64))
 	hold.Same(t, "the longest", e, api.ErrLimit)
 	got, e = code.Extend(api.Code{Q: 2, N: 63})
 	hold.Same(t, "the longest but one", e, api.OK)
-	sameCode(t, "the longest but one", got, api.Code{Q: 2, N: 64})
+	hold.Code(t, "the longest but one", got, api.Code{Q: 2, N: 64})
 }
 
 func TestC4SumAndMeet(t *testing.T) {
@@ -467,7 +449,7 @@ func TestC4SumAndMeet(t *testing.T) {
 func TestC4MostRows(t *testing.T) {
 	d := hold.Draw(8)
 	for _, q := range []int{2, 7, 64} {
-		all, half := unit(q, 64), unit(q, 64)
+		all, half := hold.AllWords(q, 64), hold.AllWords(q, 64)
 		half.Rows = half.Rows[:63]
 		other := api.Code{Q: q, N: 64}
 		for range 64 {
@@ -475,18 +457,18 @@ func TestC4MostRows(t *testing.T) {
 		}
 		got, e := code.Sum(all, all)
 		hold.Same(t, "Sum's error", e, api.OK)
-		sameCode(t, "Sum of all", got, all)
+		hold.Code(t, "Sum of all", got, all)
 		got, _ = code.Sum(half, other)
-		sameCode(t, "Sum of nearly all", got, all)
+		hold.Code(t, "Sum of nearly all", got, all)
 		got, _ = code.Meet(all, half)
-		sameCode(t, "Meet of nearly all", got, half)
+		hold.Code(t, "Meet of nearly all", got, half)
 		got, _ = code.Meet(half, api.Code{Q: q, N: 64})
-		sameCode(t, "Meet with one word", got, api.Code{Q: q, N: 64})
+		hold.Code(t, "Meet with one word", got, api.Code{Q: q, N: 64})
 	}
 }
 
 func TestC4SumAndMeetErrors(t *testing.T) {
-	for _, other := range []api.Code{unit(3, 7), unit(2, 6), unit(3, 6), {Q: 4, N: 7}} {
+	for _, other := range []api.Code{hold.AllWords(3, 7), hold.AllWords(2, 6), hold.AllWords(3, 6), {Q: 4, N: 7}} {
 		_, e := code.Sum(hamming, other)
 		hold.Same(t, "Sum", e, api.ErrForm)
 		_, e = code.Meet(other, hamming)
@@ -513,11 +495,11 @@ func TestC5ParseReadsWhatPrintTells(t *testing.T) {
 		for _, x := range []string{text, strings.TrimSuffix(text, "\n")} {
 			got, e := code.Parse(x)
 			hold.Same(t, "Parse's error", e, api.OK)
-			sameCode(t, "Parse", got, one)
+			hold.Code(t, "Parse", got, one)
 		}
 	}
 	got, _ := code.Parse("3 2\n2 2\n1 1\n0 0")
-	sameCode(t, "what Make says", got, api.Code{Q: 3, N: 2, Rows: [][]int{{1, 1}}})
+	hold.Code(t, "what Make says", got, api.Code{Q: 3, N: 2, Rows: [][]int{{1, 1}}})
 }
 
 func TestC5ParseErrors(t *testing.T) {
@@ -568,7 +550,7 @@ func TestC5ParseErrors(t *testing.T) {
 		got, e := code.Parse(c.text)
 		hold.Same(t, "Parse of "+c.text[:min(len(c.text), 30)], e, c.want)
 		if e != api.OK {
-			sameCode(t, "a code beside an error", got, api.Code{})
+			hold.Code(t, "a code beside an error", got, api.Code{})
 		}
 	}
 }

@@ -1,12 +1,12 @@
 package code
 
 import (
-	"iter"
 	"slices"
 
 	"syndrome/api"
 	"syndrome/field"
 	"syndrome/matrix"
+	"syndrome/span"
 )
 
 // oneForm is the code of rows that may be.
@@ -57,20 +57,11 @@ func sum(a, b api.Code) api.Code {
 	for i, row := range b.Rows {
 		rest[i] = row
 		for j, place := range pivots {
-			rest[i] = plus(f, rest[i], f.Neg(rest[i][place]), rows[j])
+			rest[i] = span.Plus(f, rest[i], f.Neg(rest[i][place]), rows[j])
 		}
 	}
 	rest, _, _ = matrix.Reduce(a.Q, rest)
 	return oneForm(a.Q, a.N, append(rows, rest...))
-}
-
-// plus is a word, and another one so many times.
-func plus(f *field.Field, word []int, times int, other []int) []int {
-	out := slices.Clone(word)
-	for i, v := range other {
-		out[i] = f.Add(out[i], f.Mul(times, v))
-	}
-	return out
 }
 
 // numbers says whether there are so many numbers, all of a field, and tells that field.
@@ -100,26 +91,4 @@ func small(c api.Code) (api.Code, api.Errno) {
 		}
 	}
 	return c, api.OK
-}
-
-// words goes through all words of a code in its one form, in the order of their messages.
-func words(c api.Code) iter.Seq[[]int] {
-	return func(yield func([]int) bool) {
-		if f, e := field.New(c.Q); e == api.OK {
-			goThrough(f, make([]int, c.N), c.Rows, yield)
-		}
-	}
-}
-
-// goThrough goes through all sums of a word and multiples of rows, each of them new; false: it was stopped.
-func goThrough(f *field.Field, word []int, rows [][]int, yield func([]int) bool) bool {
-	if len(rows) == 0 {
-		return yield(word)
-	}
-	for times := range f.Size() {
-		if !goThrough(f, plus(f, word, times, rows[0]), rows[1:], yield) {
-			return false
-		}
-	}
-	return true
 }

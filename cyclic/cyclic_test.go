@@ -54,12 +54,6 @@ func noCode(t *testing.T, what string, got api.Code) {
 	}
 }
 
-func sameCode(t *testing.T, what string, got, want api.Code) {
-	t.Helper()
-	hold.Same(t, what, [2]int{got.Q, got.N}, [2]int{want.Q, want.N})
-	hold.Lists(t, what, got.Rows, want.Rows...)
-}
-
 // checks: of what sizes and lengths there are lists.
 var checks = []struct {
 	q, n int
@@ -359,7 +353,7 @@ func TestY3Answers(t *testing.T) {
 	} {
 		got, e := cyclic.Of(c.q, c.n, c.g)
 		hold.Same(t, fmt.Sprint("Of ", c.q, c.n, c.g), e, api.OK)
-		sameCode(t, fmt.Sprint("Of ", c.q, c.n, c.g), got, api.Code{Q: c.q, N: c.n, Rows: c.rows})
+		hold.Code(t, fmt.Sprint("Of ", c.q, c.n, c.g), got, api.Code{Q: c.q, N: c.n, Rows: c.rows})
 	}
 	for n := 1; n <= api.MaxLength; n++ {
 		got, e := cyclic.Of(64, n, []int{1, 1})
@@ -414,7 +408,7 @@ func TestY4BCH(t *testing.T) {
 					want, _ := cyclic.Of(q, n, g)
 					got, e := cyclic.BCH(q, n, from, many)
 					hold.Same(t, fmt.Sprint("BCH ", q, n, from, many), e, api.OK)
-					sameCode(t, fmt.Sprint("BCH ", q, n, from, many), got, want)
+					hold.Code(t, fmt.Sprint("BCH ", q, n, from, many), got, want)
 				}
 			}
 		}
@@ -477,11 +471,11 @@ func TestY4Squares(t *testing.T) {
 func TestY4SquaresAnswers(t *testing.T) {
 	seven, _ := cyclic.Squares(7)
 	want, _ := cyclic.Of(2, 7, []int{1, 1, 0, 1})
-	sameCode(t, "Squares 7", seven, want)
+	hold.Code(t, "Squares 7", seven, want)
 	g, _ := cyclic.Generator(2, 31, []int{1, 5, 7})
 	long, _ := cyclic.Squares(31)
 	want, _ = cyclic.Of(2, 31, g)
-	sameCode(t, "Squares 31", long, want)
+	hold.Code(t, "Squares 31", long, want)
 	hold.Same(t, "its dimension", len(long.Rows), 16)
 }
 

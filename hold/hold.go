@@ -4,6 +4,8 @@ package hold
 import (
 	"iter"
 	"slices"
+
+	"syndrome/api"
 )
 
 // Test: what of a test is called here.
@@ -32,6 +34,14 @@ func List(t Test, what string, got []int, want ...int) {
 func Lists(t Test, what string, got [][]int, want ...[]int) {
 	t.Helper()
 	if !slices.EqualFunc(got, want, slices.Equal) {
+		t.Fatalf("%s => %v, want %v", what, got, want)
+	}
+}
+
+// Code ends a test, unless it got that code, with its rows as they stand there.
+func Code(t Test, what string, got, want api.Code) {
+	t.Helper()
+	if got.Q != want.Q || got.N != want.N || !slices.EqualFunc(got.Rows, want.Rows, slices.Equal) {
 		t.Fatalf("%s => %v, want %v", what, got, want)
 	}
 }
@@ -96,6 +106,16 @@ func UpTo(many int) []int {
 		out[i] = i
 	}
 	return out
+}
+
+// AllWords is the code of all words of a length.
+func AllWords(q, n int) api.Code {
+	c := api.Code{Q: q, N: n, Rows: make([][]int, n)}
+	for i := range c.Rows {
+		c.Rows[i] = make([]int, n)
+		c.Rows[i][i] = 1
+	}
+	return c
 }
 
 // Each goes through all lists of so many numbers below one, in order, each of them new.

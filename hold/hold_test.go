@@ -4,6 +4,7 @@ import (
 	"slices"
 	"testing"
 
+	"syndrome/api"
 	"syndrome/hold"
 )
 
@@ -33,6 +34,12 @@ func TestWhatDiffersEndsATest(t *testing.T) {
 		{func(t hold.Test) { hold.List(t, "", []int{1}, 1, 2) }, true},
 		{func(t hold.Test) { hold.Lists(t, "", [][]int{{1}, nil}, []int{1}, nil) }, false},
 		{func(t hold.Test) { hold.Lists(t, "", [][]int{{1}}, []int{2}) }, true},
+		{func(t hold.Test) {
+			hold.Code(t, "", hold.AllWords(2, 2), api.Code{Q: 2, N: 2, Rows: [][]int{{1, 0}, {0, 1}}})
+		}, false},
+		{func(t hold.Test) { hold.Code(t, "", hold.AllWords(2, 2), hold.AllWords(3, 2)) }, true},
+		{func(t hold.Test) { hold.Code(t, "", api.Code{Q: 2, N: 2}, api.Code{Q: 2, N: 3}) }, true},
+		{func(t hold.Test) { hold.Code(t, "", api.Code{Q: 2, N: 2}, hold.AllWords(2, 2)) }, true},
 		{func(t hold.Test) { hold.Apart(t, []int{1}, []int{1}) }, false},
 		{func(t hold.Test) { hold.Apart(t, shared[:2], shared[1:]) }, true},
 		{func(t hold.Test) { shared[2] = 3; hold.Apart(t, shared[:2], shared[2:]) }, true},
@@ -40,6 +47,25 @@ func TestWhatDiffersEndsATest(t *testing.T) {
 		if ends(c.see) != c.want {
 			t.Errorf("case %d: ended: %v", i, !c.want)
 		}
+	}
+}
+
+func TestHanded(t *testing.T) {
+	for what, c := range map[string]struct {
+		see  func(list []int) []int
+		want bool
+	}{
+		"told anew":        {func(list []int) []int { return slices.Clone(list) }, false},
+		"written into":     {func(list []int) []int { list[0]++; return nil }, true},
+		"written behind":   {func(list []int) []int { _ = append(list, 7); return nil }, true},
+		"told as it is":    {func(list []int) []int { return list }, true},
+		"told what's left": {func(list []int) []int { return list[2:3] }, true},
+	} {
+		var handed hold.Handed
+		list := handed.List(5, 6)
+		hold.List(t, what, list, 5, 6)
+		out := c.see(list)
+		hold.Same(t, what, ends(func(t hold.Test) { handed.Apart(t, out) }), c.want)
 	}
 }
 

@@ -423,14 +423,9 @@ func TestL3Errors(t *testing.T) {
 }
 
 func TestListsAreTheCallers(t *testing.T) {
-	with := func(list ...int) []int { return append(make([]int, 0, 99), list...) }
-	xs, w, y, low, high := with(0, 1, 2, 3, 4), with(1, 1, 2, 2, 0), with(1, 1, 0), with(1, 4, 3), with(2, 0)
-	handed := [][]int{xs, w, y, low, high}
-	var kept [][]int
-	for _, list := range handed {
-		kept = append(kept, slices.Clone(list[:99]))
-	}
-	out := slices.Clone(handed)
+	var handed hold.Handed
+	xs, w, y, low, high := handed.List(0, 1, 2, 3, 4), handed.List(1, 1, 2, 2, 0), handed.List(1, 1, 0), handed.List(1, 4, 3), handed.List(2, 0)
+	var out [][]int
 	for range 2 {
 		within, _ := lists.Within(5, xs, 2, w, 3)
 		sum, _ := lists.Sudan(5, xs, 2, w, 3)
@@ -438,8 +433,5 @@ func TestListsAreTheCallers(t *testing.T) {
 		only, _ := lists.Curve(5, [][]int{low}, y)
 		out = slices.Concat(out, within, sum, [][]int{curve, only})
 	}
-	for i, list := range handed {
-		hold.List(t, "what was handed in, and what stands behind it", list[:99], kept[i]...)
-	}
-	hold.Apart(t, out...)
+	handed.Apart(t, out...)
 }

@@ -457,14 +457,9 @@ func TestR3Errors(t *testing.T) {
 }
 
 func TestListsAreTheCallers(t *testing.T) {
-	with := func(list ...int) []int { return append(make([]int, 0, 99), list...) }
-	xs, message, w, s := with(0, 1, 2, 3, 4, 5), with(1, 1), with(1, 2, 0, -1, 5, 6), with(0, 0, 1, 1, 0, 1, 1, 0)
-	handed := [][]int{xs, message, w, s}
-	var kept [][]int
-	for _, list := range handed {
-		kept = append(kept, slices.Clone(list[:99]))
-	}
-	out := slices.Clone(handed)
+	var handed hold.Handed
+	xs, message, w, s := handed.List(0, 1, 2, 3, 4, 5), handed.List(1, 1), handed.List(1, 2, 0, -1, 5, 6), handed.List(0, 0, 1, 1, 0, 1, 1, 0)
+	var out [][]int
 	for range 2 {
 		word, _ := reed.Encode(7, xs, message)
 		out = append(out, word)
@@ -479,8 +474,5 @@ func TestListsAreTheCallers(t *testing.T) {
 		reed.Check(7, xs, 2)
 		reed.Word(7, xs, 2, w)
 	}
-	for i, list := range handed {
-		hold.List(t, "what was handed in, and what stands behind it", list[:99], kept[i]...)
-	}
-	hold.Apart(t, out...)
+	handed.Apart(t, out...)
 }
