@@ -8,11 +8,22 @@ import (
 	"syndrome/cyclic"
 )
 
-// The two codes are made at the start, and never written into: who asks for one gets a copy.
+// The two codes are made at the start, and never written into; only Kept reads them.
 var (
-	binary  = extended(2, 23, []int{1, 0, 1, 0, 1, 1, 1, 0, 0, 0, 1, 1})
-	ternary = extended(3, 11, []int{2, 0, 1, 2, 1, 1})
+	binary  = Binary()
+	ternary = Ternary()
 )
+
+// Kept is the code over 2 or 3 that was made at the start, as Binary and Ternary tell it: that spares the making of another one.
+func Kept(q int) (api.Code, api.Errno) {
+	switch q {
+	case 2:
+		return copied(binary), api.OK
+	case 3:
+		return copied(ternary), api.OK
+	}
+	return api.Code{}, api.ErrKind
+}
 
 // extended is the code that Extend makes of a cyclic one.
 func extended(q, n int, g []int) api.Code {
