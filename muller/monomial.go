@@ -50,16 +50,3 @@ func (s monomial) byMajority(word []int) bool {
 	}
 	return yes > no
 }
-
-// checkBits says whether there are so many bits.
-func checkBits(list []int, many int) api.Errno {
-	if len(list) != many {
-		return api.ErrCount
-	}
-	for _, v := range list {
-		if v != 0 && v != 1 {
-			return api.ErrValue
-		}
-	}
-	return api.OK
-}

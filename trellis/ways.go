@@ -29,16 +29,6 @@ func turned(rules, signs []int, at, seen int) int {
 	return many
 }
 
-// areBits says whether all numbers of a list are bits.
-func areBits(list []int) bool {
-	for _, v := range list {
-		if v != 0 && v != 1 {
-			return false
-		}
-	}
-	return true
-}
-
 // through goes all ways at once, bit by bit of a message and then by the noughts behind it. Ways stand by their states, the bits that are remembered: where two come to one state, what follows is the same for both, so meet makes one of them. In what order they meet must make no difference.
 func through[W any](remembered, many int, first W, step func(at, seen int, w W) W, meet func(one, other W) W) W {
 	ways := map[int]W{0: first}
